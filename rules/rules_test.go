@@ -1,0 +1,128 @@
+// Package rules holds what is asked of the program's text: which packages a layer calls, and the language that it keeps to.
+package rules
+
+import (
+	"bytes"
+	"go/ast"
+	"go/format"
+	"go/parser"
+	"go/token"
+	"os"
+	"path/filepath"
+	"slices"
+	"strconv"
+	"strings"
+	"testing"
+)
+
+// layers are the rows of the document's map, layer 1 first: each package, and the numbers of those that it may call. Where the head of a chapter says that it stands on more than its row names (interp, console), those are here too.
+var layers = []struct {
+	name  string
+	calls []int
+}{
+	{"heap", nil},
+	{"gc", []int{1}},
+	{"object", []int{1, 2}},
+	{"show", nil},
+	{"lex", nil},
+	{"parse", []int{5}},
+	{"scope", []int{6}},
+	{"gen", []int{6, 7}},
+	{"verify", nil},
+	{"listing", []int{9}},
+	{"prim", []int{4}},
+	{"model", []int{4, 9, 11}},
+	{"interp", []int{1, 2, 3, 4, 9}},
+	{"reg", []int{4, 9, 11, 12}},
+	{"base", []int{9, 14}},
+	{"graph", []int{4, 9, 11, 12}},
+	{"build", []int{9, 16}},
+	{"fold", []int{16}},
+	{"guard", []int{16}},
+	{"live", []int{16}},
+	{"alloc", []int{16, 20}},
+	{"emit", []int{14, 16, 20, 21}},
+	{"deopt", []int{14}},
+	{"tier", []int{1, 2, 3, 4, 9, 13, 14, 15, 16, 17, 18, 19, 22, 23}},
+	{"script", []int{8, 9, 24}},
+	{"console", []int{5, 8, 9, 10, 12, 14, 15, 17, 18, 19, 22, 24, 25}},
+}
+
+// library are the packages of Go's library that the program may import.
+const library = " bytes cmp container/heap errors iter maps math math/bits slices sort strconv strings sync sync/atomic unicode unicode/utf8 "
+
+// longest is how many lines a function may have.
+const longest = 60
+
+// sources parses the files of a layer, its tests aside.
+func sources(t *testing.T, name string) (*token.FileSet, map[string]*ast.File) {
+	t.Helper()
+	paths, _ := filepath.Glob(filepath.Join("..", name, "*.go"))
+	set := token.NewFileSet()
+	files := map[string]*ast.File{}
+	for _, path := range paths {
+		if strings.HasSuffix(path, "_test.go") {
+			continue
+		}
+		f, err := parser.ParseFile(set, path, nil, parser.ParseComments)
+		if err != nil {
+			t.Fatal(err)
+		}
+		files[path] = f
+	}
+	if len(files) == 0 {
+		t.Errorf("package %s has no files", name)
+	}
+	return set, files
+}
+
+// mayCall: may a layer import a package of that path?
+func mayCall(calls []int, path string) bool {
+	own, ok := strings.CutPrefix(path, "gearbox/")
+	if !ok {
+		return strings.Contains(library, " "+path+" ")
+	}
+	for i, l := range layers {
+		if l.name == own {
+			return slices.Contains(calls, i+1)
+		}
+	}
+	return true
+}
+
+func TestImports(t *testing.T) {
+	for _, l := range layers {
+		_, files := sources(t, l.name)
+		for path, f := range files {
+			for _, s := range f.Imports {
+				if p, _ := strconv.Unquote(s.Path.Value); !mayCall(l.calls, p) {
+					t.Errorf("%s imports %s", path, p)
+				}
+			}
+		}
+	}
+}
+
+func TestLayout(t *testing.T) {
+	for _, l := range layers {
+		set, files := sources(t, l.name)
+		for path, f := range files {
+			text, err := os.ReadFile(path)
+			if err != nil {
+				t.Fatal(err)
+			}
+			if g, err := format.Source(text); err != nil || !bytes.Equal(g, text) {
+				t.Errorf("%s is not as gofmt lays it out", path)
+			}
+			if bytes.Contains(text, []byte("//go:")) {
+				t.Errorf("%s has a //go: line", path)
+			}
+			for _, d := range f.Decls {
+				lines := set.Position(d.End()).Line - set.Position(d.Pos()).Line + 1
+				if fn, ok := d.(*ast.FuncDecl); ok && lines > longest {
+					t.Errorf("%s: %s has %d lines", path, fn.Name.Name, lines)
+				}
+			}
+		}
+	}
+}
