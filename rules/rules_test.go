@@ -46,6 +46,7 @@ var layers = []struct {
 	{"tier", []int{1, 2, 3, 4, 9, 13, 14, 15, 16, 17, 18, 19, 22, 23}},
 	{"script", []int{8, 9, 24}},
 	{"console", []int{5, 8, 9, 10, 12, 14, 15, 17, 18, 19, 22, 24, 25}},
+	{"samples", nil}, // no layer: for tests alone
 }
 
 // library are the packages of Go's library that the program may import.
