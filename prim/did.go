@@ -5,33 +5,24 @@ import (
 	"strings"
 
 	"gearbox/api"
-	"gearbox/show"
+	"gearbox/plain"
 )
 
-// What operations throw.
-const (
-	wrongKind = "kind"
-	byZero    = "zero"
-	tooGreat  = "great"
-	tooMany   = "items"
-	outside   = "bounds"
-)
-
-func throws(s api.Store, text string) Did { return Did{Store: copyOf(s), Thrown: text} }
-
-func comesTo(s api.Store, v api.Val) Did { return Did{Store: copyOf(s), Val: v} }
-
-// makes: a new object behind those that there are; its words are asked of a store in which it is alone, so that they are nobody else's.
-func makes(s api.Store, o api.Obj) Did {
-	c := append(copyOf(s), renewed(o))
-	return Did{
-		Store: c,
-		Val:   api.Val{Kind: o.Kind, N: int64(len(c))},
-		Words: show.Words(api.Store{o}, []api.Val{{Kind: o.Kind, N: 1}}),
+// did: an operation is done on a copy of the store, since an answer shares no memory with what was handed in.
+func did(s api.Store, d plain.Deed) Did {
+	c := copyOf(s)
+	v := d.Val
+	if d.New.Kind != api.Nil {
+		c = append(c, renewed(d.New))
+		v = api.Val{Kind: d.New.Kind, N: int64(len(c))}
 	}
+	d.Change.On(c)
+	return Did{Store: c, Val: v, Thrown: d.Thrown, Words: d.Words}
 }
 
-// copyOf: the same objects in new memory, since an answer shares none with what was handed in.
+// refused: a value may not be where it is handed in.
+func refused(s api.Store) Did { return did(s, plain.Throws(plain.ThrowKind)) }
+
 func copyOf(s api.Store) api.Store {
 	c := slices.Clone(s)
 	for i, o := range c {
@@ -43,13 +34,4 @@ func copyOf(s api.Store) api.Store {
 func renewed(o api.Obj) api.Obj {
 	o.S, o.L = strings.Clone(o.S), slices.Clone(o.L)
 	return o
-}
-
-func whole(n int64) api.Val { return api.Val{Kind: api.Int, N: n} }
-
-func truth(holds bool) api.Val {
-	if holds {
-		return api.Val{Kind: api.Bool, N: 1}
-	}
-	return api.Val{Kind: api.Bool}
 }

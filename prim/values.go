@@ -7,35 +7,17 @@ import (
 	"gearbox/show"
 )
 
-// object: the one that a value leads to, which is of a kind that does, and may be.
-func object(s api.Store, v api.Val) api.Obj { return s[v.N-1] }
-
-// essence is one of all values that are the same.
-type essence struct {
-	val  api.Val
-	says string
-}
-
-func essenceOf(s api.Store, v api.Val) essence {
-	if v.Kind == api.Text {
-		return essence{api.Val{Kind: api.Text}, object(s, v).S}
-	}
-	return essence{val: v}
-}
-
-func same(s api.Store, a, b api.Val) bool { return essenceOf(s, a) == essenceOf(s, b) }
-
-// mayBe: may these values be, in the store, and is none of them a cell?
+// mayBe: may these values be, in the store?
 func mayBe(s api.Store, l ...api.Val) bool {
 	for _, v := range l {
-		if v.Kind == api.Cell || !show.Check(s, v) {
+		if !show.Check(s, v) {
 			return false
 		}
 	}
 	return true
 }
 
-// mayAllBe: likewise, of any number of values, which are asked as the items of lists: what several of them lead to is gone through once.
+// mayAllBe: likewise, of any number of values, none of them a cell, which are asked as the items of lists: what several of them lead to is gone through once.
 func mayAllBe(s api.Store, l []api.Val) bool {
 	for items := range slices.Chunk(l, api.MaxItems) {
 		if !mayHold(s, api.Obj{Kind: api.List, L: items, Room: len(items)}) {

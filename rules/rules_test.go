@@ -30,12 +30,12 @@ var layers = []struct {
 	{"gen", []int{6, 7}},
 	{"verify", nil},
 	{"listing", []int{9}},
-	{"prim", []int{4}},
-	{"model", []int{4, 9, 11}},
+	{"prim", []int{4, 28}},
+	{"model", []int{4, 9, 11, 28}},
 	{"interp", []int{1, 2, 3, 4, 9}},
-	{"reg", []int{4, 9, 11, 12}},
+	{"reg", []int{4, 9, 11, 12, 28}},
 	{"base", []int{9, 14}},
-	{"graph", []int{4, 9, 11, 12}},
+	{"graph", []int{4, 9, 11, 12, 28}},
 	{"build", []int{9, 16}},
 	{"fold", []int{16}},
 	{"guard", []int{16}},
@@ -46,7 +46,8 @@ var layers = []struct {
 	{"tier", []int{1, 2, 3, 4, 9, 13, 14, 15, 16, 17, 18, 19, 22, 23}},
 	{"script", []int{8, 9, 24}},
 	{"console", []int{5, 8, 9, 10, 12, 14, 15, 17, 18, 19, 22, 24, 25}},
-	{"samples", nil}, // no layer: for tests alone
+	{"samples", nil},    // no layer: for tests alone
+	{"plain", []int{4}}, // no layer: what layers on plain stores share
 }
 
 // library are the packages of Go's library that the program may import.
