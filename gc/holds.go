@@ -1,8 +1,6 @@
 package gc
 
 import (
-	"iter"
-
 	"gearbox/api"
 	"gearbox/heap"
 )
@@ -14,45 +12,49 @@ type link struct {
 	more uint64 // what the word tells beyond the place: 1 where Items are held, since 0 says there that there are none
 }
 
-// holds: the links of the object at a place.
-func holds(h *heap.Heap, at int64) iter.Seq[link] {
-	kind, _ := h.Kind(at)
-	size, _ := h.Size(at)
+// holder is an object that may hold others. Its links are gone through by a method, for which nothing has to be made anew at each object.
+type holder struct {
+	heap *heap.Heap
+	at   int64
+}
+
+// holds: what leads from the object at a place to others.
+func holds(h *heap.Heap, at int64) holder { return holder{h, at} }
+
+// links goes to all of them.
+func (o holder) links(yield func(link) bool) {
+	kind, _ := o.heap.Kind(o.at)
+	size, _ := o.heap.Size(o.at)
 	switch kind {
 	case api.List, api.Map:
-		return items(h, at)
+		o.items(yield)
 	case api.Items:
-		return pairs(h, at, 0, size)
+		o.pairs(0, size, yield)
 	case api.Func:
-		return pairs(h, at, 1, size)
+		o.pairs(1, size, yield)
 	case api.Cell:
-		return pairs(h, at, 0, min(size, 2))
+		o.pairs(0, min(size, 2), yield)
 	}
-	return func(func(link) bool) {}
 }
 
 // items: the link from a List or a Map to its Items.
-func items(h *heap.Heap, at int64) iter.Seq[link] {
-	return func(yield func(link) bool) {
-		w, e := h.Read(at, 1)
-		if e != api.OK || w == 0 {
-			return
-		}
-		place := int64(w - 1)
-		if k, e := h.Kind(place); e == api.OK && k == api.Items {
-			yield(link{1, place, 1})
-		}
+func (o holder) items(yield func(link) bool) {
+	w, e := o.heap.Read(o.at, 1)
+	if e != api.OK || w == 0 {
+		return
+	}
+	place := int64(w - 1)
+	if k, e := o.heap.Kind(place); e == api.OK && k == api.Items {
+		yield(link{1, place, 1})
 	}
 }
 
 // pairs: the links of the values that are held, two words each, from a word on, ahead of another one.
-func pairs(h *heap.Heap, at int64, from, to int) iter.Seq[link] {
-	return func(yield func(link) bool) {
-		for i := from; i+1 < to; i += 2 {
-			v := held(h, at, i)
-			if leads(h, v) && !yield(link{i + 1, v.N, 0}) {
-				return
-			}
+func (o holder) pairs(from, to int, yield func(link) bool) {
+	for i := from; i+1 < to; i += 2 {
+		v := held(o.heap, o.at, i)
+		if leads(o.heap, v) && !yield(link{i + 1, v.N, 0}) {
+			return
 		}
 	}
 }

@@ -50,7 +50,7 @@ func reached(h *heap.Heap, roots []api.Val) []int64 {
 		}
 	}
 	for at, ok := m.next(); ok; at, ok = m.next() {
-		for l := range holds(h, at) {
+		for l := range holds(h, at).links {
 			m.add(l.to)
 		}
 	}

@@ -33,10 +33,13 @@ func (m moves) place(at int64) int64 {
 
 // writes: what is to be written to the links when all objects have been moved. It is found out ahead of that: among objects that are being moved a word no longer says what it leads to.
 func (m moves) writes(h *heap.Heap, places []int64) []func() {
+	if len(m) == 0 { // as it mostly is in a heap that is full
+		return nil
+	}
 	var l []func()
 	for _, at := range places {
 		from := m.place(at)
-		for k := range holds(h, at) {
+		for k := range holds(h, at).links {
 			if to, ok := m[k.to]; ok {
 				l = append(l, func() { h.Write(from, k.word, uint64(to)+k.more) })
 			}

@@ -7,12 +7,13 @@ import (
 
 	"gearbox/api"
 	"gearbox/samples"
+	"gearbox/trials"
 	"gearbox/verify"
 )
 
 // P12.1: room and fuel outside their bounds; those are told ahead of code that may not be.
 func TestArgs(t *testing.T) {
-	right, wrong := of(t, "print 1;"), api.Program{fn("Nil")}
+	right, wrong := of(t, "print 1;"), api.Program{trials.Fn("Nil")}
 	for _, p := range []api.Program{right, wrong, nil, {}} {
 		for _, bad := range []int{0, -1, api.MaxWords + 1, math.MinInt, math.MaxInt} {
 			wantError(t, p, bad, 0, api.ErrArg)
@@ -88,7 +89,7 @@ func TestHandedIn(t *testing.T) {
 			t.Fatalf("%d: %v, and then %v", seed, second, third)
 		}
 	}
-	f := fn("Nil Return")
+	f := trials.Fn("Nil Return")
 	f.Caps, f.Consts, f.Handlers = []api.Cap{}, []api.Const{}, []api.Handler{}
 	want(t, api.Program{f}, 1, 0, api.Outcome{End: api.EndDone})
 }

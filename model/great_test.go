@@ -1,7 +1,6 @@
 package model_test
 
 import (
-	"fmt"
 	"strings"
 	"testing"
 
@@ -53,38 +52,4 @@ func TestMostRoom(t *testing.T) {
 	if got := strings.Join(o.Out, " "); o.End != api.EndDone || got != "65536 first items nil 65536" {
 		t.Error(o.End, o.Value, got)
 	}
-}
-
-// P12.1: texts as long as may be, and one byte more.
-func TestMostText(t *testing.T) {
-	half := strings.Repeat("0123456789abcdef", api.MaxText/32)
-	p := of(t, fmt.Sprintf(`var a = "%s"; print a + a; try { print a + a + "x"; } catch e { print e; } try { print [a + a]; } catch e { print e; } try { print $[a + a]; } catch e { print e; } throw [a + a];`, half))
-	o := run(t, p, plenty, 0)
-	if len(o.Out) != 4 || o.Out[0] != half+half || strings.Join(o.Out[1:], " ") != "great great great" || o.Value != "great" || o.Words != 6+2+512 {
-		t.Errorf("%.300v", o)
-	}
-}
-
-// R1: a stack as deep as may be, as many locals, caps, handlers and instructions.
-func TestGreatestCode(t *testing.T) {
-	wantOut(t, api.Program{fn(strings.Repeat("Yes ", api.MaxStack) + fmt.Sprintf("List %d Len Print Nil Return", api.MaxStack))}, "256")
-	wantOut(t, api.Program{fn(strings.Repeat("Yes ", api.MaxStack) + fmt.Sprintf("Map %d Len Print Nil Return", api.MaxStack/2))}, "1")
-	f := fn(strings.Repeat("Nil Pop ", api.MaxCode/2-3) + "Nil Yes Throw Print Nil Return")
-	at := len(f.Code) - 3
-	for range api.MaxCode - 1 {
-		f.Handlers = append(f.Handlers, api.Handler{From: 0, To: at - 1, At: at})
-	}
-	f.Handlers = append(f.Handlers, api.Handler{From: at - 1, To: at, At: at})
-	wantOut(t, api.Program{f}, "yes")
-	many := make([]api.Cap, api.MaxParts)
-	p := api.Program{
-		fn("Yes Store 63 Cell 63 Fn 1 Call Print Nil Return", locals(api.MaxLocals)),
-		fn("Up 4095 Return", caps(many...)),
-	}
-	for i := range many {
-		p[1].Caps[i].N = 63
-	}
-	wantOut(t, p, "yes")
-	want(t, p, 3+2+2*api.MaxParts, 1, api.Outcome{End: api.EndDone, Out: []string{"yes"}})
-	want(t, p, 3+2+2*api.MaxParts-1, 1, api.Outcome{End: api.EndRoom, Fuel: 1, Words: 3})
 }

@@ -7,6 +7,7 @@ import (
 	"unsafe"
 
 	"gearbox/api"
+	"gearbox/trials"
 )
 
 // span: from where to where a text is in memory.
@@ -20,7 +21,7 @@ func spanOf(s string) span {
 // R4: what is printed and thrown is in memory of its own: of no constant, and of no other text that was told.
 func TestTextsApart(t *testing.T) {
 	text := strings.Repeat("some text ", 3)
-	f := fn("Const Dup Print Dup Print Dup Store Print Load Print Const 1 Print Const 1 Print Load Throw", consts(text, "x"), locals(1))
+	f := trials.Fn("Const Dup Print Dup Print Dup Store Print Load Print Const 1 Print Const 1 Print Load Throw", trials.Consts(text, "x"), trials.Locals(1))
 	p := api.Program{f}
 	spans := []span{spanOf(f.Consts[0].S), spanOf(f.Consts[1].S)}
 	for range 2 {

@@ -93,13 +93,24 @@ func (m memory) putPair(at int64, b body, k, x api.Val) api.Errno {
 
 // keyAt: where the first key that is the same as k stands among a Map's values; false: there is none.
 func (m memory) keyAt(b body, k api.Val) (int, bool) {
+	same := m.keyLike(b, k)
+	for i := 0; i < b.count; i += 2 {
+		if same(i) {
+			return i, true
+		}
+	}
+	return 0, false
+}
+
+// keyLike: what tells of the values of an object, by where they stand, whether they are the same as k. Mostly one word is enough for that: a map may have many keys.
+func (m memory) keyLike(b body, k api.Val) func(i int) bool {
 	same := m.likeness(k)
-	at := 0
-	none := m.each(b, func(i int, v api.Val) bool {
-		at = i
-		return i%2 != 0 || !same(v)
-	})
-	return at, !none
+	if k.Kind == api.Nil || k.Kind == api.Text {
+		return func(i int) bool { return same(m.value(b, i)) }
+	}
+	return func(i int) bool {
+		return m.word(b.in, b.first+2*i+1) == uint64(k.N) && same(m.value(b, i))
+	}
 }
 
 // valueOf: the value of a Map's key; nil, if it is none.

@@ -5,10 +5,10 @@ import (
 	"gearbox/show"
 )
 
-// wordsOf: an object's own words, which are asked of a store in which it is alone.
-func wordsOf(o api.Obj) int { return show.Words(api.Store{o}, []api.Val{{Kind: o.Kind, N: 1}}) }
+// Words: an object's own words, which are asked of a store in which it is alone.
+func Words(o api.Obj) int { return show.Words(api.Store{o}, []api.Val{{Kind: o.Kind, N: 1}}) }
 
-func makes(o api.Obj) Deed { return Deed{New: o, Words: wordsOf(o)} }
+func makes(o api.Obj) Deed { return Deed{New: o, Words: Words(o)} }
 
 // Text: a new one.
 func Text(t string) Deed {

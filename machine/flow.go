@@ -1,13 +1,13 @@
-package model
+package machine
 
 import (
 	"gearbox/api"
 	"gearbox/plain"
 )
 
-func (m *machine) jump(f *frame, a int) { f.place = a }
+func (m *Machine) jump(f *frame, a int) { f.place = a }
 
-func (m *machine) unless(f *frame, a int) {
+func (m *Machine) unless(f *frame, a int) {
 	v := f.last(1)[0]
 	if v.Kind != api.Bool {
 		m.throwText(plain.ThrowKind)
@@ -19,13 +19,13 @@ func (m *machine) unless(f *frame, a int) {
 	}
 }
 
-func (m *machine) loop(f *frame, a int) {
+func (m *Machine) loop(f *frame, a int) {
 	if m.point() {
 		f.place = a
 	}
 }
 
-func (m *machine) call(f *frame, a int) {
+func (m *Machine) call(f *frame, a int) {
 	if !m.point() {
 		return
 	}
@@ -40,11 +40,11 @@ func (m *machine) call(f *frame, a int) {
 }
 
 // called: the function that a value with so many arguments calls, or what is thrown for it.
-func (m *machine) called(v api.Val, args int) (code *api.Fn, thrown string) {
+func (m *Machine) called(v api.Val, args int) (code *api.Fn, thrown string) {
 	if v.Kind != api.Func {
 		return nil, plain.ThrowKind
 	}
-	code = &m.program[m.space.Objects()[v.N-1].Fn]
+	code = &m.program[m.ground.Which(v)]
 	switch {
 	case code.Params != args:
 		return nil, plain.ThrowArgs
@@ -54,7 +54,7 @@ func (m *machine) called(v api.Val, args int) (code *api.Fn, thrown string) {
 	return code, ""
 }
 
-func (m *machine) back(f *frame, _ int) {
+func (m *Machine) back(f *frame, _ int) {
 	m.leave()
 	if len(m.frames) == 0 {
 		m.end = api.EndDone
@@ -65,7 +65,7 @@ func (m *machine) back(f *frame, _ int) {
 	ahead.place++
 }
 
-func (m *machine) raise(f *frame, _ int) {
+func (m *Machine) raise(f *frame, _ int) {
 	v := f.last(1)[0]
 	if v.Kind == api.Cell {
 		m.throwText(plain.ThrowKind)

@@ -1,4 +1,4 @@
-package model
+package machine
 
 import "gearbox/api"
 
@@ -15,6 +15,16 @@ func frameOf(code *api.Fn, fn api.Val, args []api.Val) *frame {
 	f := &frame{code: code, fn: fn, slots: make([]api.Val, code.Locals)}
 	copy(f.slots, args)
 	return f
+}
+
+// holds goes to all values that the frame holds; false as soon as yield says so.
+func (f *frame) holds(yield func(*api.Val) bool) bool {
+	for i := range f.slots {
+		if !yield(&f.slots[i]) {
+			return false
+		}
+	}
+	return yield(&f.fn)
 }
 
 // last: the last values of the stack, in their order.
