@@ -52,10 +52,9 @@ func (m memory) byteAt(at int64, i int) string {
 	return string([]byte{byte(w >> (8 * (i % wordBytes)))})
 }
 
-// says: does a value lead to a Text that may be and says s? It is asked of each key of a map, and so takes the words as they stand.
+// says: does a value lead to a Text that may be and says s? It is asked of each key of a map: so the words are taken as they stand, and whether that Text may be is asked last, since few get that far.
 func (m memory) says(v api.Val, s string) bool {
-	b, ok := m.find(v)
-	if !ok || v.Kind != api.Text || b.count != len(s) {
+	if v.Kind != api.Text || m.word(v.N, 0) != uint64(len(s)) {
 		return false
 	}
 	for i := 0; i < len(s); i += wordBytes {
@@ -64,7 +63,8 @@ func (m memory) says(v api.Val, s string) bool {
 			return false
 		}
 	}
-	return true
+	_, ok := m.find(v)
+	return ok
 }
 
 // textOf: what a value says; false, if it leads to no Text that may be.
