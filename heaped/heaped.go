@@ -2,6 +2,8 @@
 package heaped
 
 import (
+	"slices"
+
 	"gearbox/api"
 	"gearbox/gc"
 	"gearbox/heap"
@@ -103,11 +105,31 @@ func (g *Ground) Store(cell, x api.Val) machine.Did {
 	return came(api.Val{}, e, plain.ThrowKind, plain.ThrowKind)
 }
 
-// Collect: what the roots do not lead to goes, the others have other places.
-func (g *Ground) Collect(roots []api.Val) []api.Val {
-	moved, _ := gc.Collect(g.heap, roots)
-	return moved
+// Collect: what the roots do not lead to goes, the rest have other places. What the others alone lead to goes, too, and they are nil then: a heap has no room for more than roots.
+func (g *Ground) Collect(roots, others []api.Val) (movedRoots, movedOthers []api.Val) {
+	moved, _ := gc.Collect(g.heap, slices.Concat(roots, g.led(roots, others)))
+	return moved[:len(roots)], moved[len(roots):]
 }
+
+// led: the others, and nil for those to which the roots do not lead.
+func (g *Ground) led(roots, others []api.Val) []api.Val {
+	if !slices.ContainsFunc(others, isObject) {
+		return others
+	}
+	places, _, _ := gc.Reach(g.heap, roots)
+	l := slices.Clone(others)
+	for i, v := range l {
+		if _, is := slices.BinarySearch(places, v.N); isObject(v) && !is {
+			l[i] = api.Val{}
+		}
+	}
+	return l
+}
+
+func isObject(v api.Val) bool { return v.Kind >= api.Text }
+
+// Again: behind a collection there is nothing beside what the roots lead to.
+func (g *Ground) Again() {}
 
 // Reached: how many words the roots lead to.
 func (g *Ground) Reached(roots []api.Val) int {

@@ -32,7 +32,7 @@ func (s *side) do(o operation, picks []api.Val) machine.Did {
 	}
 	did := o(s, v)
 	if did.Full {
-		s.roots = s.Collect(s.roots)
+		s.roots, _ = s.Collect(s.roots, nil)
 		did = o(s, v)
 	}
 	return did
@@ -120,7 +120,7 @@ func TestGroundsAlike(t *testing.T) {
 				a.roots, b.roots = slices.Delete(a.roots, i, i+1), slices.Delete(b.roots, i, i+1)
 			}
 			if d.Below(5) == 0 {
-				b.roots = b.Collect(b.roots)
+				b.roots, _ = b.Collect(b.roots, nil)
 			}
 			alike(t, a, b)
 		}
@@ -165,11 +165,49 @@ func TestFull(t *testing.T) {
 	if g.Reached([]api.Val{a, l}) != 6 || g.Len(l).Val.N != 0 {
 		t.Error(g.Reached([]api.Val{a, l}))
 	}
-	roots := g.Collect([]api.Val{l, a, one})
+	roots, _ := g.Collect([]api.Val{l, a, one}, nil)
 	if did := g.Text("c"); did.Full || roots[2] != one {
 		t.Error(did, roots)
 	}
 	if s, _ := g.Told(roots[1]); s != "a" {
 		t.Error(s)
+	}
+}
+
+// What the run holds beside its roots is moved with what the roots lead to, and nil, if that does not have it.
+func TestBeside(t *testing.T) {
+	g := heaped.New(40)
+	one, yes := api.Val{Kind: api.Int, N: 1}, api.Val{Kind: api.Bool, N: 1}
+	g.Text("gone")
+	a, b := g.Text("a").Val, g.Text("b").Val
+	g.Text("gone")
+	l := g.List([]api.Val{a, one}).Val
+	roots, others := g.Collect([]api.Val{one, l, yes}, []api.Val{one, b, a, {}, l, b, yes})
+	told := func(v api.Val) string {
+		s, _ := g.Told(v)
+		return s
+	}
+	var got []string
+	for _, v := range slices.Concat(roots, others) {
+		got = append(got, told(v))
+	}
+	if s := strings.Join(got, " "); s != "1 [a, 1] yes 1 nil a nil [a, 1] nil yes" {
+		t.Error(s)
+	}
+	if roots[1] != others[4] || g.Get(roots[1], api.Val{Kind: api.Int}).Val != others[2] || g.Reached(roots) != 3+8 {
+		t.Error(roots, others)
+	}
+	// there is nothing in the heap but what the roots lead to
+	if did := g.List(slices.Repeat([]api.Val{one}, (40-11-4)/2)); did.Full {
+		t.Error(did)
+	}
+	// no roots, and others that are no objects at all: a place that is one's number is no object
+	roots, others = g.Collect(nil, []api.Val{{Kind: api.Int}, {Kind: api.Int, N: 3}})
+	if len(roots) != 0 || !slices.Equal(others, []api.Val{{Kind: api.Int}, {Kind: api.Int, N: 3}}) {
+		t.Error(roots, others)
+	}
+	a = g.Text("a").Val
+	if roots, others = g.Collect(nil, []api.Val{a, {Kind: api.Int, N: 7}}); len(roots) != 0 || !slices.Equal(others, []api.Val{{}, {Kind: api.Int, N: 7}}) {
+		t.Error(roots, others)
 	}
 }

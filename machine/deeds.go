@@ -3,7 +3,7 @@ package machine
 import "gearbox/api"
 
 // deeds is what each instruction does in the last frame with its number, by its Op.
-type deeds [api.OpPrint + 1]func(m *Machine, f *frame, a int)
+type deeds [api.OpPrint + 1]func(m *Machine, f *Stack, a int)
 
 func newDeeds() deeds {
 	return deeds{

@@ -5,9 +5,9 @@ import (
 	"gearbox/plain"
 )
 
-func (m *Machine) jump(f *frame, a int) { f.place = a }
+func (m *Machine) jump(f *Stack, a int) { f.place = a }
 
-func (m *Machine) unless(f *frame, a int) {
+func (m *Machine) unless(f *Stack, a int) {
 	v := f.last(1)[0]
 	if v.Kind != api.Bool {
 		m.throwText(plain.ThrowKind)
@@ -19,53 +19,59 @@ func (m *Machine) unless(f *frame, a int) {
 	}
 }
 
-func (m *Machine) loop(f *frame, a int) {
-	if m.point() {
+func (m *Machine) loop(f *Stack, a int) {
+	if m.Point() {
 		f.place = a
 	}
 }
 
-func (m *Machine) call(f *frame, a int) {
-	if !m.point() {
+func (m *Machine) call(f *Stack, a int) {
+	if !m.Point() {
 		return
 	}
 	l := f.last(a + 1)
-	code, thrown := m.called(l[0], a)
+	fn, thrown := m.Called(l[0], a)
 	if thrown != "" {
 		m.throwText(thrown)
 		return
 	}
 	f.take(a + 1)
-	m.frames = append(m.frames, frameOf(code, l[0], l[1:]))
+	m.Begin(fn, l[0], l[1:])
 }
 
-// called: the function that a value with so many arguments calls, or what is thrown for it.
-func (m *Machine) called(v api.Val, args int) (code *api.Fn, thrown string) {
+// Called: the function that a value with so many arguments calls, or what is thrown for it.
+func (m *Machine) Called(v api.Val, args int) (fn int, thrown string) {
 	if v.Kind != api.Func {
-		return nil, plain.ThrowKind
+		return 0, plain.ThrowKind
 	}
-	code = &m.program[m.ground.Which(v)]
+	fn = m.ground.Which(v)
 	switch {
-	case code.Params != args:
-		return nil, plain.ThrowArgs
+	case m.program[fn].Params != args:
+		return 0, plain.ThrowArgs
 	case len(m.frames) == api.MaxFrames:
-		return nil, plain.ThrowDeep
+		return 0, plain.ThrowDeep
 	}
-	return code, ""
+	return fn, ""
 }
 
-func (m *Machine) back(f *frame, _ int) {
+// Begin: a function is called by a Func, and handed its first locals: its frame is the last one then.
+func (m *Machine) Begin(fn int, by api.Val, args []api.Val) {
+	m.frames = append(m.frames, m.begins(fn, by, args))
+}
+
+func (m *Machine) back(f *Stack, _ int) { m.Back(f.last(1)[0]) }
+
+// Back: the last frame goes; what it comes to is for the one ahead.
+func (m *Machine) Back(v api.Val) {
 	m.leave()
 	if len(m.frames) == 0 {
 		m.end = api.EndDone
 		return
 	}
-	ahead := m.top()
-	ahead.push(f.last(1)[0])
-	ahead.place++
+	m.top().Gets(v)
 }
 
-func (m *Machine) raise(f *frame, _ int) {
+func (m *Machine) raise(f *Stack, _ int) {
 	v := f.last(1)[0]
 	if v.Kind == api.Cell {
 		m.throwText(plain.ThrowKind)

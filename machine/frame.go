@@ -2,50 +2,35 @@ package machine
 
 import "gearbox/api"
 
-// frame is a function that is being done.
-type frame struct {
-	code  *api.Fn
-	fn    api.Val // the Func by which it was called; the main one's: nil
-	place int
-	slots []api.Val // its locals, then its stack
+// Frame is a function that is being done, in whatever gear. The last one of a run goes on, the others wait for calls.
+type Frame interface {
+	// Step: the next instruction is done.
+	Step(m *Machine)
+	// Holds goes to the values that it holds, and tells which are roots; those that are no objects it may leave out.
+	Holds(yield func(v *api.Val, root bool) bool)
+	// Gets: what the call that it waits for comes to; it goes on behind that.
+	Gets(v api.Val)
 }
 
-// frameOf: a function begins; its first locals are what it is handed.
-func frameOf(code *api.Fn, fn api.Val, args []api.Val) *frame {
-	f := &frame{code: code, fn: fn, slots: make([]api.Val, code.Locals)}
-	copy(f.slots, args)
-	return f
+// Geared is a frame of another gear than the first one.
+type Geared interface {
+	Frame
+	// Fallen: what it is in the first gear, at the instruction at which it falls, or waits.
+	Fallen() *Stack
 }
 
-// holds goes to all values that the frame holds; false as soon as yield says so.
-func (f *frame) holds(yield func(*api.Val) bool) bool {
-	for i := range f.slots {
-		if !yield(&f.slots[i]) {
-			return false
-		}
+// Fall: the last frame is one of the first gear from now on.
+func (m *Machine) Fall() { m.fallen() }
+
+// fallen: the last frame, which falls if it is of another gear than the first one.
+func (m *Machine) fallen() *Stack {
+	var s *Stack
+	switch f := m.top().(type) {
+	case *Stack:
+		s = f
+	case Geared:
+		s = f.Fallen()
+		m.frames[len(m.frames)-1] = s
 	}
-	return yield(&f.fn)
-}
-
-// last: the last values of the stack, in their order.
-func (f *frame) last(n int) []api.Val { return f.slots[len(f.slots)-n:] }
-
-func (f *frame) take(n int) { f.slots = f.slots[:len(f.slots)-n] }
-
-func (f *frame) push(v api.Val) { f.slots = append(f.slots, v) }
-
-// next: an instruction is done that took so many values.
-func (f *frame) next(took int) {
-	f.take(took)
-	f.place++
-}
-
-// catch: what is thrown is handled. A call has taken its values where one of the frames behind throws, and the handler may want to keep some of these: nil stands for them.
-func (f *frame) catch(h api.Handler, v api.Val) {
-	deep := f.code.Locals + h.Deep
-	for len(f.slots) < deep {
-		f.push(api.Val{})
-	}
-	f.slots = append(f.slots[:deep], v)
-	f.place = h.At
+	return s
 }

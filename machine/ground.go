@@ -27,8 +27,10 @@ type Ground interface {
 	// CellOf: the n-th cell that a Func is over.
 	CellOf(fn api.Val, n int) api.Val
 
-	// Collect: what these values do not lead to goes. They are answered as they are then.
-	Collect(roots []api.Val) []api.Val
+	// Collect: what the roots do not lead to goes. They are answered as they are then; so are others that the run still holds, though they are no roots.
+	Collect(roots, others []api.Val) (movedRoots, movedOthers []api.Val)
+	// Again: an operation that found no room is done again behind a collection. What is no more than held takes no room in it.
+	Again()
 	// Reached: how many words these values lead to.
 	Reached(roots []api.Val) int
 }

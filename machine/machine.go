@@ -1,4 +1,4 @@
-// Package machine takes code as it is, on whatever ground its values stand: for the layers that run code in plain values, and for those that run it over a heap. It is no layer.
+// Package machine runs programs, on whatever ground their values stand: for the layers that run code in plain values, and for those that run it over a heap. It takes code as it is; frames of other gears may be in a run beside. It is no layer.
 package machine
 
 import (
@@ -11,9 +11,10 @@ type Machine struct {
 	program api.Program
 	ground  Ground
 	deeds   deeds
-	frames  []*frame
+	frames  []Frame
 	fuel    int
 	atPoint func()
+	begins  func(fn int, by api.Val, args []api.Val) Frame
 	out     []string
 	end     api.EndKind
 	thrown  api.Val // EndThrown
@@ -28,27 +29,37 @@ func Check(p api.Program, room, fuel int) api.Errno {
 	return e
 }
 
-// New: a run that there may be, at its beginning, on a ground without objects.
+// New: a run that there may be, on a ground without objects.
 func New(p api.Program, g Ground, fuel int) *Machine {
 	return &Machine{
 		program: p,
 		ground:  g,
 		deeds:   newDeeds(),
-		frames:  []*frame{frameOf(&p[0], api.Val{}, nil)},
 		fuel:    fuel,
 		atPoint: func() {},
+		begins: func(fn int, by api.Val, args []api.Val) Frame {
+			return StackOf(&p[fn], by, args)
+		},
 	}
 }
 
 // AtPoint: what is done at each point, when its fuel is taken, ahead of what the point does.
 func (m *Machine) AtPoint(do func()) { m.atPoint = do }
 
-// Run: all that is still to be done.
+// Begins: what frame a function begins with that is called by a Func, and handed its first locals. (If nobody says otherwise, all begin in the first gear.)
+func (m *Machine) Begins(begins func(fn int, by api.Val, args []api.Val) Frame) { m.begins = begins }
+
+// Ground: what its values stand on.
+func (m *Machine) Ground() Ground { return m.ground }
+
+// Run: from its beginning to its end.
 func (m *Machine) Run() api.Outcome {
+	m.Begin(0, api.Val{}, nil)
 	for m.end == api.EndNone {
-		m.step()
+		m.top().Step(m)
 	}
-	o := api.Outcome{End: m.end, Out: m.out, Fuel: m.fuel, Words: m.ground.Reached(m.roots())}
+	roots, _ := m.held()
+	o := api.Outcome{End: m.end, Out: m.out, Fuel: m.fuel, Words: m.ground.Reached(roots)}
 	if m.end == api.EndThrown {
 		o.Value = m.text(m.thrown)
 	}
@@ -57,28 +68,38 @@ func (m *Machine) Run() api.Outcome {
 
 // Collect: the ground has just what the run can reach.
 func (m *Machine) Collect() {
-	moved := m.ground.Collect(m.roots())
-	for v := range m.holds {
-		*v, moved = moved[0], moved[1:]
-	}
-}
-
-// holds goes to all values that the run holds: those of its frames, or what was thrown, when they are gone.
-func (m *Machine) holds(yield func(*api.Val) bool) {
-	for _, f := range m.frames {
-		if !f.holds(yield) {
-			return
+	roots, others := m.ground.Collect(m.held())
+	for v, root := range m.holds {
+		if root {
+			*v, roots = roots[0], roots[1:]
+		} else {
+			*v, others = others[0], others[1:]
 		}
 	}
-	yield(&m.thrown)
 }
 
-func (m *Machine) roots() []api.Val {
-	var l []api.Val
-	for v := range m.holds {
-		l = append(l, *v)
+// holds goes to all values that the run holds, and tells which are roots: those of its frames, and what was thrown, when they are gone.
+func (m *Machine) holds(yield func(v *api.Val, root bool) bool) {
+	for _, f := range m.frames {
+		for v, root := range f.Holds {
+			if !yield(v, root) {
+				return
+			}
+		}
 	}
-	return l
+	yield(&m.thrown, true)
+}
+
+// held: the roots of the run, and what else it holds.
+func (m *Machine) held() (roots, others []api.Val) {
+	for v, root := range m.holds {
+		if root {
+			roots = append(roots, *v)
+		} else {
+			others = append(others, *v)
+		}
+	}
+	return roots, others
 }
 
 // text: of a value that is no cell; where it is too long, what would be thrown for it.
@@ -91,20 +112,13 @@ func (m *Machine) text(v api.Val) string {
 }
 
 // top: the last frame.
-func (m *Machine) top() *frame { return m.frames[len(m.frames)-1] }
+func (m *Machine) top() Frame { return m.frames[len(m.frames)-1] }
 
 // leave: the last frame goes.
 func (m *Machine) leave() { m.frames = m.frames[:len(m.frames)-1] }
 
-// step: the next instruction is done.
-func (m *Machine) step() {
-	f := m.top()
-	i := f.code.Code[f.place]
-	m.deeds[i.Op](m, f, i.A)
-}
-
-// point: is there fuel for a call, for a loop's turn? It is taken then; else the run ends.
-func (m *Machine) point() bool {
+// Point: is there fuel for a call, for a loop's turn? It is taken then; else the run ends.
+func (m *Machine) Point() bool {
 	if m.fuel == 0 {
 		m.end = api.EndFuel
 		return false
@@ -114,22 +128,28 @@ func (m *Machine) point() bool {
 	return true
 }
 
-// did: what an operation comes to; false: it threw, or there was no room for it. It has to read its values whenever it is done, since they are moved where there is no room at first.
-func (m *Machine) did(operation func() Did) (api.Val, bool) {
+// Did: what an operation comes to; false: there was no room for it, and the run ends. It has to read its values whenever it is done, since they are moved where there is no room at first.
+func (m *Machine) Did(operation func() Did) (Did, bool) {
 	d := operation()
 	if d.Full {
 		m.Collect()
+		m.ground.Again()
 		d = operation()
 	}
-	switch {
-	case d.Full:
+	if d.Full {
 		m.end = api.EndRoom
-	case d.Thrown != "":
-		m.throwText(d.Thrown)
-	default:
-		return d.Val, true
 	}
-	return api.Val{}, false
+	return d, !d.Full
+}
+
+// did: likewise; false, too, if it threw.
+func (m *Machine) did(operation func() Did) (api.Val, bool) {
+	d, ok := m.Did(operation)
+	if ok && d.Thrown != "" {
+		m.throwText(d.Thrown)
+		return api.Val{}, false
+	}
+	return d.Val, ok
 }
 
 // throwText: a new Text is thrown.
@@ -143,7 +163,7 @@ func (m *Machine) throwText(t string) {
 func (m *Machine) throw(v api.Val) {
 up:
 	for ; len(m.frames) > 0; m.leave() {
-		f := m.top()
+		f := m.fallen()
 		for _, h := range f.code.Handlers {
 			if h.From <= f.place && f.place < h.To {
 				f.catch(h, v)

@@ -18,10 +18,10 @@ type counted struct {
 	roots     []api.Val // of the last one
 }
 
-func (c *counted) Collect(roots []api.Val) []api.Val {
+func (c *counted) Collect(roots, others []api.Val) (movedRoots, movedOthers []api.Val) {
 	c.collected++
 	c.roots = slices.Clone(roots)
-	return c.Ground.Collect(roots)
+	return c.Ground.Collect(roots, others)
 }
 
 // grounds: one of each kind.

@@ -64,7 +64,7 @@ func TestSpoilt(t *testing.T) {
 			wrong++
 			continue
 		}
-		alike(t, p, 1+d.Below(100), d.Below(20), met{})
+		alike(t, p, 1+d.Below(100), d.Below(20), nil)
 		right++
 	}
 	if wrong < 500 || right < 500 {

@@ -36,7 +36,7 @@ var layers = []layer{
 	{"prim", []int{4, 28}},
 	{"model", []int{4, 9, 11, 28, 29, 30}},
 	{"interp", []int{1, 2, 3, 4, 9, 29, 31}},
-	{"reg", []int{4, 9, 11, 12, 28, 29, 30}},
+	{"reg", []int{4, 9, 11, 12, 28, 29, 30, 33}},
 	{"base", []int{9, 14}},
 	{"graph", []int{4, 9, 11, 12, 28, 29, 30}},
 	{"build", []int{9, 16}},
@@ -46,7 +46,7 @@ var layers = []layer{
 	{"alloc", []int{16, 20}},
 	{"emit", []int{14, 16, 20, 21}},
 	{"deopt", []int{14}},
-	{"tier", []int{1, 2, 3, 4, 9, 13, 14, 15, 16, 17, 18, 19, 22, 23, 29, 31}},
+	{"tier", []int{1, 2, 3, 4, 9, 13, 14, 15, 16, 17, 18, 19, 22, 23, 29, 31, 33}},
 	{"script", []int{8, 9, 24}},
 	{"console", []int{5, 8, 9, 10, 12, 14, 15, 17, 18, 19, 22, 24, 25}},
 	// no layers: what layers share, and what is for tests alone
@@ -56,6 +56,8 @@ var layers = []layer{
 	{"space", []int{4, 28, 29}},
 	{"heaped", []int{1, 2, 3, 4, 28, 29}},
 	{"trials", []int{8}},
+	{"registers", []int{28, 29}},
+	{"world", []int{4, 11, 32}},
 }
 
 // lastLayer is how many of these are layers.

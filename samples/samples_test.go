@@ -6,6 +6,7 @@ import (
 
 	"gearbox/api"
 	"gearbox/gen"
+	"gearbox/reg"
 	"gearbox/samples"
 	"gearbox/verify"
 )
@@ -64,4 +65,43 @@ func TestCode(t *testing.T) {
 		t.Errorf("%v, %d that keep values, %d caps", ops, keeps, caps)
 	}
 	t.Log(ops, keeps, caps)
+}
+
+// Code of registers may be the function's that it is of, with all instructions that there are.
+func TestRegs(t *testing.T) {
+	makes := map[string]func(d *samples.Dice, p api.Program, fn int, depths []int) api.RegFn{
+		"turns": func(_ *samples.Dice, p api.Program, fn int, depths []int) api.RegFn {
+			return samples.Turns(p, fn, depths)
+		},
+		"detours": samples.Detours,
+		"any":     samples.Regs,
+	}
+	for name, make := range makes {
+		ops, exits := map[api.RegOp]int{}, 0
+		for seed := range 2000 {
+			p, d := samples.Code(seed), samples.Dice(seed)
+			for fn := range p {
+				depths, _ := verify.Depths(p, fn)
+				again := d
+				c := make(&d, p, fn, depths)
+				if !reflect.DeepEqual(c, make(&again, p, fn, depths)) {
+					t.Fatalf("%s, %d hangs on more than the seed", name, seed)
+				}
+				if e := reg.Check(p, fn, c); e != api.OK {
+					t.Fatalf("%s, %d: %d: %v", name, seed, e, c)
+				}
+				for _, i := range c.Code {
+					ops[i.Op]++
+				}
+				exits += len(c.Exits)
+			}
+		}
+		want := int(api.RPrint)
+		if name == "turns" {
+			want -= 2 // it has no RIntBin, no RGuard
+		}
+		if len(ops) != want || exits < 1000 {
+			t.Error(name, ops, exits)
+		}
+	}
 }

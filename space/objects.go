@@ -52,9 +52,24 @@ func (o *objects) keep(reached []bool) {
 	}
 }
 
-// reached: of each object, whether the roots lead to it. Objects may lie deeper in one another than calls should, so that those that are to be gone to are kept in a list.
+// wordsOf: of some objects, how many words they have.
+func (o *objects) wordsOf(which []bool) int {
+	n := 0
+	for i, is := range which {
+		if is {
+			n += o.words[i]
+		}
+	}
+	return n
+}
+
+// reached: of each object, whether the roots lead to it.
 func (o *objects) reached(roots []api.Val) []bool {
-	met := make([]bool, len(o.store))
+	return o.reachedBeside(make([]bool, len(o.store)), roots)
+}
+
+// reachedBeside: those that were met, and those that some roots lead to beside. Objects may lie deeper in one another than calls should, so that those that are to be gone to are kept in a list.
+func (o *objects) reachedBeside(met []bool, roots []api.Val) []bool {
 	var todo []int64
 	meet := func(l []api.Val) {
 		for _, v := range l {

@@ -10,8 +10,10 @@ import (
 // Space is the objects of a run, with room for so many words.
 type Space struct {
 	objects
-	signs plain.Signs
-	room  int
+	signs  plain.Signs
+	room   int
+	beside int // the words of what was kept in the last collection, though the roots did not lead to it
+	spare  int // how many words more there is room for in the operation that is done next
 }
 
 // New: without objects.
@@ -19,10 +21,12 @@ func New(room int) *Space { return &Space{signs: plain.NewSigns(), room: room} }
 
 // do: an operation that was worked out in this space.
 func (s *Space) do(d plain.Deed) machine.Did {
+	room := s.room + s.spare
+	s.spare = 0
 	switch {
 	case d.Thrown != "":
 		return machine.Did{Thrown: d.Thrown}
-	case s.used+d.Words > s.room:
+	case d.Words > 0 && s.used+d.Words > room:
 		return machine.Did{Full: true}
 	case d.New.Kind != api.Nil:
 		return machine.Did{Val: s.add(d.New, d.Words)}
@@ -78,19 +82,17 @@ func (s *Space) Which(fn api.Val) int { return s.store[fn.N-1].Fn }
 // CellOf: the n-th cell that a Func is over.
 func (s *Space) CellOf(fn api.Val, n int) api.Val { return s.store[fn.N-1].L[n] }
 
-// Collect: what the roots do not lead to goes; the others keep their numbers.
-func (s *Space) Collect(roots []api.Val) []api.Val {
-	s.keep(s.reached(roots))
-	return roots
+// Collect: what neither the roots nor the others lead to goes; the rest keep their numbers.
+func (s *Space) Collect(roots, others []api.Val) (movedRoots, movedOthers []api.Val) {
+	reached := s.reached(roots)
+	rooted := s.wordsOf(reached)
+	s.keep(s.reachedBeside(reached, others))
+	s.beside = s.used - rooted
+	return roots, others
 }
 
+// Again: what the roots did not lead to takes no room in the operation that is done next.
+func (s *Space) Again() { s.spare = s.beside }
+
 // Reached: how many words the roots lead to.
-func (s *Space) Reached(roots []api.Val) int {
-	n := 0
-	for i, is := range s.reached(roots) {
-		if is {
-			n += s.words[i]
-		}
-	}
-	return n
-}
+func (s *Space) Reached(roots []api.Val) int { return s.wordsOf(s.reached(roots)) }

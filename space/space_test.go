@@ -2,6 +2,7 @@ package space_test
 
 import (
 	"slices"
+	"strings"
 	"testing"
 
 	"gearbox/api"
@@ -24,7 +25,7 @@ func newDesk(room int) *desk { return &desk{Space: space.New(room)} }
 func (d *desk) do(operation func() machine.Did) machine.Did {
 	did := operation()
 	if did.Full {
-		d.roots = d.Collect(d.roots)
+		d.roots, _ = d.Collect(d.roots, nil)
 		did = operation()
 	}
 	return did
@@ -123,6 +124,83 @@ func TestFunc(t *testing.T) {
 	}
 	d.Store(b, whole(5))
 	if did := d.Load(d.CellOf(f, 1)); did.Val != whole(5) {
+		t.Error(did)
+	}
+}
+
+// What the run holds beside its roots is kept, and takes no room in the operation that is done next, when it is done again; in all others it does.
+func TestBeside(t *testing.T) {
+	s := space.New(9)
+	a, b, c := s.Text("a").Val, s.Text("b").Val, s.Text("c").Val
+	full := func(is bool) {
+		t.Helper()
+		if did := s.Text("d"); did.Full != is || did.Thrown != "" {
+			t.Error(did)
+		}
+	}
+	full(true)
+	roots, others := s.Collect([]api.Val{a}, []api.Val{whole(1), b, {}, c})
+	if !slices.Equal(roots, []api.Val{a}) || !slices.Equal(others, []api.Val{whole(1), b, {}, c}) {
+		t.Error(roots, others)
+	}
+	full(true) // not again
+	s.Again()
+	full(false)
+	full(true)
+	s.Again()
+	if did := s.Len(b); did.Val != whole(1) {
+		t.Error(did)
+	}
+	full(true) // another one was done meanwhile
+	for v, want := range map[api.Val]string{a: "a", b: "b", c: "c"} {
+		if text, _ := s.Told(v); text != want {
+			t.Error(text, want)
+		}
+	}
+	if n := s.Reached([]api.Val{a}); n != 3 {
+		t.Error(n)
+	}
+	s.Collect([]api.Val{a}, []api.Val{a, whole(9)}) // what a root leads to is beside nothing
+	s.Again()
+	full(false)
+	full(false)
+	full(true)
+}
+
+// What others lead to is beside, however deep; of what the roots lead to, too, nothing.
+func TestBesideDeep(t *testing.T) {
+	s := space.New(14)
+	a := s.Text("a").Val
+	l := s.List([]api.Val{a, a}).Val // 8 words
+	m := s.Cell(l).Val
+	s.Collect([]api.Val{a}, []api.Val{m}) // 3 are counted, 11 beside
+	s.Again()
+	if did := s.Text(strings.Repeat("12345678", 10)); !did.Full { // 12 words
+		t.Error(did)
+	}
+	s.Again()
+	if did := s.Text(strings.Repeat("12345678", 9)); did.Full {
+		t.Error(did)
+	}
+	if text, _ := s.Told(l); text != "[a, a]" {
+		t.Error(text)
+	}
+}
+
+// What asks for no words is done, whatever room there is.
+func TestAsksNothing(t *testing.T) {
+	s := space.New(6)
+	a, b := s.Text("a").Val, s.Text("b").Val
+	s.Collect(nil, []api.Val{a, b})
+	s.Again()
+	c := s.Cell(a).Val // 9 words in all
+	if did := s.Store(c, b); did.Full || did.Thrown != "" {
+		t.Error(did)
+	}
+	if did := s.Load(c); did.Val != b {
+		t.Error(did)
+	}
+	if did := s.Bin(api.Less, a, b); did.Full || did.Val.N != 1 {
 		t.Error(did)
 	}
 }

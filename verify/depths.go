@@ -1,7 +1,6 @@
 package verify
 
 import (
-	"container/heap"
 	"slices"
 
 	"gearbox/api"
@@ -9,13 +8,12 @@ import (
 
 // depths: what each place of a function is told, whose head and instructions may be; the place of the first fault.
 func depths(f *api.Fn) (told []int, fault int) {
-	w := walk{told: slices.Repeat([]int{none}, len(f.Code))}
+	w := newWalk(len(f.Code))
 	guards := guardsOf(f)
 	w.tell(0, 0)
 	fault = none
 places:
-	for len(w.waiting) > 0 {
-		pc := w.take()
+	for pc := range w.waiting.taken {
 		deep, ok := behind(f.Code[pc], w.told[pc])
 		if !ok || guards.deepest(pc) > w.told[pc] {
 			fault = pc
@@ -27,11 +25,9 @@ places:
 				break places
 			}
 		}
-		for _, place := range next(f.Code, pc) {
-			if !w.tell(place, deep) {
-				fault = pc
-				break places
-			}
+		if !w.next(f.Code[pc], pc, deep) {
+			fault = pc
+			break places
 		}
 	}
 	return w.told, fault
@@ -43,31 +39,27 @@ type walk struct {
 	waiting places // those that were told a number and not taken
 }
 
+func newWalk(places int) *walk {
+	return &walk{told: slices.Repeat([]int{none}, places), waiting: newPlaces(places)}
+}
+
 // tell: false, if the place was told another number ahead.
 func (w *walk) tell(pc, deep int) bool {
 	if w.told[pc] == none {
 		w.told[pc] = deep
-		heap.Push(&w.waiting, pc)
+		w.waiting.add(pc)
 	}
 	return w.told[pc] == deep
 }
 
-// take: the least place that waits.
-func (w *walk) take() int { return heap.Pop(&w.waiting).(int) }
-
-// places are a heap, so that code that goes back to many places is not gone through as many times.
-type places []int
-
-func (l places) Len() int           { return len(l) }
-func (l places) Less(i, j int) bool { return l[i] < l[j] }
-func (l places) Swap(i, j int)      { l[i], l[j] = l[j], l[i] }
-func (l *places) Push(x any)        { *l = append(*l, x.(int)) }
-
-func (l *places) Pop() any {
-	last := len(*l) - 1
-	pc := (*l)[last]
-	*l = (*l)[:last]
-	return pc
+// next: the places next to one are told, the one behind it first; false, if one of them was told another number ahead.
+func (w *walk) next(ins api.Ins, pc, deep int) bool {
+	row, _ := rowOf(ins.Op)
+	if !row.ends && !w.tell(pc+1, deep) {
+		return false
+	}
+	named := row.number == placeAbove || row.number == placeBack
+	return !named || w.tell(ins.A, deep)
 }
 
 // guards are the handlers of a function as a tree over its places: those that guard a place stand in the knots between its leaf and the root. So a place is not held against all of them.
@@ -75,11 +67,15 @@ type guards []knot
 
 // knot of the tree: the first one that is used is the root, number 1; those below number n are 2 n and 2 n + 1; the leaves are the second half.
 type knot struct {
-	deepest  int
+	deepest  int   // the greatest Deep of its handlers, and of those of the knots between it and the root
 	handlers []int // the numbers of those that were not asked for yet
 }
 
+// guardsOf: nil, if there are no handlers.
 func guardsOf(f *api.Fn) guards {
+	if len(f.Handlers) == 0 {
+		return nil
+	}
 	leaf := len(f.Code)
 	g := make(guards, 2*leaf)
 	for n, h := range f.Handlers {
@@ -94,6 +90,9 @@ func guardsOf(f *api.Fn) guards {
 			}
 		}
 	}
+	for n := 2; n < len(g); n++ {
+		g[n].deepest = max(g[n].deepest, g[n/2].deepest)
+	}
 	return g
 }
 
@@ -104,15 +103,17 @@ func (k *knot) add(handler, deep int) {
 
 // deepest: the greatest Deep of the handlers that guard a place; 0, if none does.
 func (g guards) deepest(pc int) int {
-	deep := 0
-	for n := len(g)/2 + pc; n > 0; n /= 2 {
-		deep = max(deep, g[n].deepest)
+	if g == nil {
+		return 0
 	}
-	return deep
+	return g[len(g)/2+pc].deepest
 }
 
 // news: the handlers that guard a place, but for those that were answered already: what they tell has been told.
 func (g guards) news(pc int) []int {
+	if g == nil {
+		return nil
+	}
 	var l []int
 	for n := len(g)/2 + pc; n > 0; n /= 2 {
 		l = append(l, g[n].handlers...)

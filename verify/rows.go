@@ -74,16 +74,3 @@ func behind(ins api.Ins, deep int) (int, bool) {
 	after := deep - takes + int(row.leaves)
 	return after, takes <= deep && after <= api.MaxStack && (ins.Op != api.OpLoop || deep == 0)
 }
-
-// next: the places next to one, the one behind it first.
-func next(code []api.Ins, pc int) []int {
-	var l []int
-	row, _ := rowOf(code[pc].Op)
-	if !row.ends {
-		l = append(l, pc+1)
-	}
-	if row.number == placeAbove || row.number == placeBack {
-		l = append(l, code[pc].A)
-	}
-	return l
-}
