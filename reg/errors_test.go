@@ -65,7 +65,7 @@ func TestRunErrors(t *testing.T) {
 			wantError(t, p, codes, api.MaxWords, api.MaxFuel, api.ErrForm)
 		}
 	}
-	for _, codes := range []map[int]api.RegFn{noFn, both, {-1: sum()}, {math.MaxInt: sum(), 0: sum()}, {math.MinInt: api.RegFn{}}} {
+	for _, codes := range []map[int]api.RegFn{noFn, both, {0: bad, 1: sum()}, {0: bad, -1: sum()}, {-1: sum()}, {math.MaxInt: sum(), 0: sum()}, {math.MinInt: api.RegFn{}}} {
 		for range 20 { // a map is gone through in any order
 			wantError(t, right, codes, 1, 0, api.ErrArg)
 		}
