@@ -38,7 +38,7 @@ func TestAnyAlike(t *testing.T) {
 			alike(t, p, codes, room, fuel, m)
 		}
 	}
-	for _, s := range world.RegWords()[1:] {
+	for _, s := range trials.RegWords()[1:] {
 		enough(t, m, 100, s)
 		switch s {
 		case "RValue", "RMove", "RUp", "RJump", "RLoop", "RReturn", "RConst", "RUpStore", "RShow", "RPrint":
@@ -93,7 +93,7 @@ func TestTurnsAlike(t *testing.T) {
 			t.Error(end, ends[end])
 		}
 	}
-	for _, s := range world.RegWords()[1:] {
+	for _, s := range trials.RegWords()[1:] {
 		enough(t, m, 8, s)
 	}
 	enough(t, m, 50, "waiting falls", "falls at RCall", "falls at RGuard", "falls at RIntBin", "falls at RThrow")

@@ -1,105 +1,18 @@
 package reg_test
 
 import (
-	"slices"
-	"strconv"
-	"strings"
-
 	"gearbox/api"
-	"gearbox/world"
+	"gearbox/trials"
 )
 
-var (
-	kindWords = strings.Fields("Nil Bool Int Text List Map Func Cell Items")
-	binWords  = strings.Fields("None Add Sub Mul Div Mod Less Most Same Unlike")
-)
+// Short names of what makes code of registers of words.
 
-func number(s string) int {
-	n, err := strconv.Atoi(s)
-	if err != nil {
-		panic(s)
-	}
-	return n
-}
+func ins(s string) api.RegIns { return trials.RegIns(s) }
 
-// parts: what stands between these signs, without space around.
-func parts(s, sign string) []string {
-	var l []string
-	for _, part := range strings.Split(s, sign) {
-		if part = strings.TrimSpace(part); part != "" {
-			l = append(l, part)
-		}
-	}
-	return l
-}
+func loc(s string) api.Loc { return trials.RegLoc(s) }
 
-// ins: an instruction as words: its name; >To; its Args; nN, or the name of a Bin; a Kind; xExit.
-func ins(s string) api.RegIns {
-	l := strings.Fields(s)
-	op := slices.Index(world.RegWords(), "R"+l[0])
-	if op < 0 {
-		panic(s)
-	}
-	i := api.RegIns{Op: api.RegOp(op), To: -1, Exit: -1}
-	for _, word := range l[1:] {
-		kind, bin := slices.Index(kindWords, word), slices.Index(binWords, word)
-		switch {
-		case kind >= 0:
-			i.Kind = api.Kind(kind)
-		case bin >= 0:
-			i.N = int64(bin)
-		case word[0] == '>':
-			i.To = number(word[1:])
-		case word[0] == 'n':
-			i.N = int64(number(word[1:]))
-		case word[0] == 'x':
-			i.Exit = number(word[1:])
-		default:
-			i.Args = append(i.Args, number(word))
-		}
-	}
-	return i
-}
-
-// loc: a register's number, or a value: nil, yes, no, =5.
-func loc(s string) api.Loc {
-	switch {
-	case s == "nil":
-		return api.Loc{Reg: -1}
-	case s == "yes":
-		return api.Loc{Reg: -1, Kind: api.Bool, N: 1}
-	case s == "no":
-		return api.Loc{Reg: -1, Kind: api.Bool}
-	case s[0] == '=':
-		return api.Loc{Reg: -1, Kind: api.Int, N: int64(number(s[1:]))}
-	}
-	return api.Loc{Reg: number(s)}
-}
-
-// regs: code of so many registers; instructions, exits (Pc: slots) and entries (Pc at At: registers), each behind a semicolon.
 func regs(n int, code, exits, entries string) api.RegFn {
-	c := api.RegFn{Regs: n}
-	for _, s := range parts(code, ";") {
-		c.Code = append(c.Code, ins(s))
-	}
-	for _, s := range parts(exits, ";") {
-		pc, slots, _ := strings.Cut(s, ":")
-		x := api.Exit{Pc: number(pc)}
-		for _, slot := range strings.Fields(slots) {
-			x.Slots = append(x.Slots, loc(slot))
-		}
-		c.Exits = append(c.Exits, x)
-	}
-	for _, s := range parts(entries, ";") {
-		head, slots, _ := strings.Cut(s, ":")
-		l := strings.Fields(head)
-		e := api.Entry{Pc: number(l[0]), At: number(l[2])}
-		for _, slot := range strings.Fields(slots) {
-			e.Slots = append(e.Slots, number(slot))
-		}
-		c.Entries = append(c.Entries, e)
-	}
-	return c
+	return trials.RegFn(n, code, exits, entries)
 }
 
 // main: code of the main function alone.

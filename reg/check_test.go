@@ -3,6 +3,7 @@ package reg_test
 import (
 	"math"
 	"slices"
+	"strconv"
 	"strings"
 	"testing"
 
@@ -11,7 +12,6 @@ import (
 	"gearbox/samples"
 	"gearbox/trials"
 	"gearbox/verify"
-	"gearbox/world"
 )
 
 // table: the chapter's, a line for each row: its name, whether it has a To, how many Args, what N and Kind are, whether it has an Exit, whether it may be the last one.
@@ -48,7 +48,7 @@ RPrint - 1 0 exit
 // rowsOf: the table's, by their names.
 func rowsOf() map[string][]string {
 	m := map[string][]string{}
-	for _, line := range parts(table, "\n") {
+	for _, line := range trials.Between(table, "\n") {
 		l := strings.Fields(line)
 		m[l[0]] = l[1:]
 	}
@@ -99,16 +99,16 @@ func tells(p api.Program, fn int, c api.RegFn) bool {
 			return false
 		}
 	}
-	return slices.Contains(rowOf[world.RegWords()[c.Code[len(c.Code)-1].Op]], "last")
+	return slices.Contains(rowOf[trials.RegWords()[c.Code[len(c.Code)-1].Op]], "last")
 }
 
 // tellsRow: is an instruction one of the rows?
 func tellsRow(p api.Program, f api.Fn, c api.RegFn, at int) bool {
 	i := c.Code[at]
-	if int(i.Op) >= len(world.RegWords()) {
+	if int(i.Op) >= len(trials.RegWords()) {
 		return false
 	}
-	row, is := rowOf[world.RegWords()[i.Op]]
+	row, is := rowOf[trials.RegWords()[i.Op]]
 	if !is {
 		return false
 	}
@@ -174,7 +174,7 @@ func tellsArgs(p api.Program, f api.Fn, c api.RegFn, i api.RegIns, what string) 
 		o := f.Code[c.Exits[i.Exit].Pc]
 		return o.Op == api.OpCall && o.A+1 == len(i.Args)
 	}
-	return len(i.Args) == number(what)
+	return strconv.Itoa(len(i.Args)) == what
 }
 
 // wantCheck: what is answered of code of a function of a program that may be.
@@ -239,7 +239,7 @@ func TestRows(t *testing.T) {
 			seen[i.Op]++
 		}
 	}
-	for _, s := range parts(rights, ";") {
+	for _, s := range trials.Between(rights, ";") {
 		i := ins(s)
 		wantCheck(t, p, 1, right(i), true)
 		var changes []func(*api.RegIns)
@@ -268,7 +268,7 @@ func TestRows(t *testing.T) {
 	}
 	for op := api.RConst; op <= api.RPrint; op++ {
 		if seen[op] < 5 {
-			t.Error(world.RegWords()[op], seen[op])
+			t.Error(trials.RegWords()[op], seen[op])
 		}
 	}
 }

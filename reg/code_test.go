@@ -12,6 +12,7 @@ import (
 	"gearbox/listing"
 	"gearbox/reg"
 	"gearbox/samples"
+	"gearbox/trials"
 	"gearbox/verify"
 	"gearbox/world"
 )
@@ -44,7 +45,7 @@ func brief(x any) string {
 	case api.RegFn:
 		s := fmt.Sprintf("regs %d\n", x.Regs)
 		for at, i := range x.Code {
-			s += fmt.Sprintf("%d: %s >%d %v n%d k%d x%d\n", at, world.RegWords()[i.Op], i.To, i.Args, i.N, i.Kind, i.Exit)
+			s += fmt.Sprintf("%d: %s >%d %v n%d k%d x%d\n", at, trials.RegWords()[i.Op], i.To, i.Args, i.N, i.Kind, i.Exit)
 		}
 		return fmt.Sprintf("%.2500s\nexits %.1000s\nentries %.500s\n", s, fmt.Sprint(x.Exits), fmt.Sprint(x.Entries))
 	}

@@ -77,7 +77,7 @@ func TestAsked(t *testing.T) {
 // biggest: how many words what is made ahead asks for, at most at a time.
 func biggest(made string) int {
 	most := 1
-	for _, s := range parts(made, ";") {
+	for _, s := range trials.Between(made, ";") {
 		words := map[api.RegOp]int{api.RConst: 4, api.RCell: 3, api.RMap: 3, api.RList: 3 + 5*min(1, len(ins(s).Args))}[ins(s).Op]
 		most = max(most, words)
 	}

@@ -1,17 +1,10 @@
 package world
 
 import (
-	"strings"
-
 	"gearbox/api"
 	"gearbox/prim"
 	"gearbox/show"
 )
-
-// RegWords: what the instructions of registers are called, by their Op.
-func RegWords() []string {
-	return strings.Fields("RNone RConst RValue RMove RCell RCellLoad RCellStore RUp RUpStore RBin RNot RNeg RLen RShow RIntBin RGuard RJump RUnless RLoop RList RMap RGet RPut RFn RCall RReturn RThrow RPrint")
-}
 
 // fall: a frame of registers is one of the first gear then, at the place that its exit tells.
 func (w *World) fall(f *frame) {

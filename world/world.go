@@ -43,7 +43,7 @@ type frame struct {
 
 // Tells: what the run comes to.
 func (w *World) Tells() api.Outcome {
-	w.words, w.regWords = trials.Words(), RegWords()
+	w.words, w.regWords = trials.Words(), trials.RegWords()
 	w.begin(0, api.Val{}, nil)
 	for w.out.End == api.EndNone {
 		if f := w.top(); f.code != nil {
