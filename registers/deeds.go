@@ -3,11 +3,12 @@ package registers
 import (
 	"gearbox/api"
 	"gearbox/machine"
+	"gearbox/operations"
 )
 
 // deed is what instructions of an Op do: one of these.
 type deed struct {
-	operation func(f *Frame, g machine.Ground, i *api.RegIns) machine.Did
+	operation operations.Operation
 	flow      func(f *Frame, m *machine.Machine, i *api.RegIns)
 }
 
@@ -16,29 +17,29 @@ type deeds [api.RPrint + 1]deed
 
 func newDeeds() deeds {
 	return deeds{
-		api.RConst:     {operation: (*Frame).constant},
-		api.RValue:     {operation: (*Frame).value},
-		api.RMove:      {operation: (*Frame).move},
-		api.RCell:      {operation: (*Frame).cell},
-		api.RCellLoad:  {operation: (*Frame).cellLoad},
-		api.RCellStore: {operation: (*Frame).cellStore},
-		api.RUp:        {operation: (*Frame).up},
-		api.RUpStore:   {operation: (*Frame).upStore},
-		api.RBin:       {operation: (*Frame).bin},
-		api.RNot:       {operation: (*Frame).not},
-		api.RNeg:       {operation: (*Frame).neg},
-		api.RLen:       {operation: (*Frame).length},
-		api.RShow:      {operation: (*Frame).show},
-		api.RIntBin:    {operation: (*Frame).intBin},
-		api.RGuard:     {operation: (*Frame).guard},
+		api.RConst:     {operation: operations.Const},
+		api.RValue:     {operation: operations.Value},
+		api.RMove:      {operation: operations.Move},
+		api.RCell:      {operation: operations.Cell},
+		api.RCellLoad:  {operation: operations.CellLoad},
+		api.RCellStore: {operation: operations.CellStore},
+		api.RUp:        {operation: operations.Up},
+		api.RUpStore:   {operation: operations.UpStore},
+		api.RBin:       {operation: operations.Bin},
+		api.RNot:       {operation: operations.Not},
+		api.RNeg:       {operation: operations.Neg},
+		api.RLen:       {operation: operations.Len},
+		api.RShow:      {operation: operations.Show},
+		api.RIntBin:    {operation: operations.IntBin},
+		api.RGuard:     {operation: operations.Guard},
 		api.RJump:      {flow: (*Frame).jump},
 		api.RUnless:    {flow: (*Frame).unless},
 		api.RLoop:      {flow: (*Frame).loop},
-		api.RList:      {operation: (*Frame).list},
-		api.RMap:       {operation: (*Frame).dict},
-		api.RGet:       {operation: (*Frame).get},
-		api.RPut:       {operation: (*Frame).put},
-		api.RFn:        {operation: (*Frame).function},
+		api.RList:      {operation: operations.List},
+		api.RMap:       {operation: operations.Map},
+		api.RGet:       {operation: operations.Get},
+		api.RPut:       {operation: operations.Put},
+		api.RFn:        {operation: operations.Fn},
 		api.RCall:      {flow: (*Frame).call},
 		api.RReturn:    {flow: (*Frame).back},
 		api.RThrow:     {flow: (*Frame).raise},
@@ -46,14 +47,14 @@ func newDeeds() deeds {
 	}
 }
 
-// operate: what an operation comes to goes to the instruction's To; where it would throw, the frame falls.
-func (f *Frame) operate(m *machine.Machine, operation func(*Frame, machine.Ground, *api.RegIns) machine.Did, i *api.RegIns) {
-	d, ok := m.Did(func() machine.Did { return operation(f, m.Ground(), i) })
-	switch {
-	case !ok:
-	case d.Thrown != "":
-		m.Fall()
-	default:
-		f.goesOn(i, d.Val)
+// operate: what an operation comes to goes to the instruction's To.
+func (f *Frame) operate(m *machine.Machine, operation operations.Operation, i *api.RegIns) {
+	x := operations.In{Program: f.code.program, Fn: f.code.fn, N: i.N, Kind: i.Kind}
+	v, ok := m.DoOrFall(func() machine.Did {
+		x.By = f.by
+		return operation(m.Ground(), x, f.args(i))
+	})
+	if ok {
+		f.goesOn(i, v)
 	}
 }

@@ -8,14 +8,13 @@ import (
 func (f *Frame) jump(_ *machine.Machine, i *api.RegIns) { f.place = int(i.N) }
 
 func (f *Frame) unless(m *machine.Machine, i *api.RegIns) {
-	v := f.arg(i, 0)
+	holds, ok := m.TestOrFall(f.arg(i, 0))
 	switch {
-	case v.Kind != api.Bool:
-		m.Fall()
-	case v.N == 0:
-		f.place = int(i.N)
-	default:
+	case !ok:
+	case holds:
 		f.place++
+	default:
+		f.place = int(i.N)
 	}
 }
 
@@ -25,16 +24,11 @@ func (f *Frame) loop(m *machine.Machine, i *api.RegIns) {
 	}
 }
 
-// call: whether it throws is asked ahead of the point, since a frame falls without fuel being taken. At the point values may be moved: they are read behind it.
 func (f *Frame) call(m *machine.Machine, i *api.RegIns) {
-	fn, thrown := m.Called(f.arg(i, 0), len(i.Args)-1)
-	if thrown != "" {
-		m.Fall()
-		return
-	}
-	if m.Point() {
+	if fn, ok := m.CallOrFall(f.arg(i, 0), len(i.Args)-1); ok {
 		f.waits = true
-		m.Begin(fn, f.arg(i, 0), f.args(i, 1))
+		l := f.args(i)
+		m.Begin(fn, l[0], l[1:])
 	}
 }
 
@@ -43,11 +37,7 @@ func (f *Frame) back(m *machine.Machine, i *api.RegIns) { m.Back(f.arg(i, 0)) }
 func (f *Frame) raise(m *machine.Machine, _ *api.RegIns) { m.Fall() }
 
 func (f *Frame) print(m *machine.Machine, i *api.RegIns) {
-	t, thrown := m.Ground().Told(f.arg(i, 0))
-	if thrown != "" {
-		m.Fall()
-		return
+	if m.PrintOrFall(f.arg(i, 0)) {
+		f.place++
 	}
-	m.Print(t)
-	f.place++
 }

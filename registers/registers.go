@@ -25,7 +25,8 @@ type Frame struct {
 	by    api.Val // the Func by which it was called; the main one's: nil
 	place int
 	regs  []api.Val
-	waits bool // for what the call at its place comes to
+	waits bool      // for what the call at its place comes to
+	taken []api.Val // what the instruction at its place was done with
 }
 
 // Enter: a frame that comes into its code by an entry, with as many slots; those that are not there are nil, and so are all other registers.
@@ -106,11 +107,11 @@ func (f *Frame) told() []api.Loc {
 // arg: the value of the n-th arg of an instruction.
 func (f *Frame) arg(i *api.RegIns, n int) api.Val { return f.regs[i.Args[n]] }
 
-// args: those of an instruction, from the n-th one on.
-func (f *Frame) args(i *api.RegIns, n int) []api.Val {
-	l := make([]api.Val, 0, len(i.Args)-n)
-	for _, r := range i.Args[n:] {
-		l = append(l, f.regs[r])
+// args: the values of those of an instruction, till it is asked for others.
+func (f *Frame) args(i *api.RegIns) []api.Val {
+	f.taken = f.taken[:0]
+	for _, r := range i.Args {
+		f.taken = append(f.taken, f.regs[r])
 	}
-	return l
+	return f.taken
 }

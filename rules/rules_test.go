@@ -36,9 +36,9 @@ var layers = []layer{
 	{"prim", []int{4, 28}},
 	{"model", []int{4, 9, 11, 28, 29, 30}},
 	{"interp", []int{1, 2, 3, 4, 9, 29, 31}},
-	{"reg", []int{4, 9, 11, 12, 28, 29, 30, 33}},
+	{"reg", []int{4, 9, 11, 12, 28, 29, 30, 33, 35}},
 	{"base", []int{9, 14}},
-	{"graph", []int{4, 9, 11, 12, 28, 29, 30}},
+	{"graph", []int{4, 9, 11, 12, 28, 29, 30, 35, 36}},
 	{"build", []int{9, 16}},
 	{"fold", []int{16}},
 	{"guard", []int{16}},
@@ -56,8 +56,10 @@ var layers = []layer{
 	{"space", []int{4, 28, 29}},
 	{"heaped", []int{1, 2, 3, 4, 28, 29}},
 	{"trials", []int{8}},
-	{"registers", []int{28, 29}},
+	{"registers", []int{29, 36}},
 	{"world", []int{4, 11, 32}},
+	{"shapes", nil},
+	{"operations", []int{28, 29}},
 }
 
 // lastLayer is how many of these are layers.
