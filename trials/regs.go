@@ -38,32 +38,58 @@ func Between(s, sign string) []string {
 	return l
 }
 
-// RegIns: an instruction of registers as words: its name without the R; >To; its Args; nN, or the name of a Bin; a Kind; xExit.
-func RegIns(s string) api.RegIns {
-	l := strings.Fields(s)
-	op := slices.Index(RegWords(), "R"+l[0])
-	if op < 0 {
-		panic(s)
-	}
-	i := api.RegIns{Op: api.RegOp(op), To: -1, Exit: -1}
-	for _, word := range l[1:] {
+// line is an instruction of registers, a node or an end as words: its name; numbers; the name of a Bin, or n and a number; that of a Kind; numbers with other signs ahead of them.
+type line struct {
+	name   string
+	args   []int
+	n      int64
+	kind   api.Kind
+	signed map[byte][]int
+}
+
+func lineOf(s string) line {
+	words := strings.Fields(s)
+	l := line{name: words[0], signed: map[byte][]int{}}
+	for _, word := range words[1:] {
 		kind, bin := slices.Index(kindWords(), word), slices.Index(binWords(), word)
 		switch {
 		case kind >= 0:
-			i.Kind = api.Kind(kind)
+			l.kind = api.Kind(kind)
 		case bin >= 0:
-			i.N = int64(bin)
-		case word[0] == '>':
-			i.To = number(word[1:])
+			l.n = int64(bin)
 		case word[0] == 'n':
-			i.N = int64(number(word[1:]))
-		case word[0] == 'x':
-			i.Exit = number(word[1:])
+			l.n = int64(number(word[1:]))
+		case word[0] >= '0' && word[0] <= '9' || word[0] == '-':
+			l.args = append(l.args, number(word))
 		default:
-			i.Args = append(i.Args, number(word))
+			l.signed[word[0]] = append(l.signed[word[0]], number(word[1:]))
 		}
 	}
-	return i
+	return l
+}
+
+// one: the number that has a sign ahead of it; -1, if none has.
+func (l line) one(sign byte) int {
+	if len(l.signed[sign]) == 0 {
+		return -1
+	}
+	return l.signed[sign][0]
+}
+
+// index: which of these words one is, which is one of them.
+func index(words []string, word string) int {
+	n := slices.Index(words, word)
+	if n < 0 {
+		panic(word)
+	}
+	return n
+}
+
+// RegIns: an instruction of registers as words: its name without the R; >To; its Args; nN, or the name of a Bin; a Kind; xExit.
+func RegIns(s string) api.RegIns {
+	l := lineOf(s)
+	op := index(RegWords(), "R"+l.name)
+	return api.RegIns{Op: api.RegOp(op), To: l.one('>'), Args: l.args, N: l.n, Kind: l.kind, Exit: l.one('x')}
 }
 
 // RegLoc: a register's number, or a value: nil, yes, no, =5.

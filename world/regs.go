@@ -3,16 +3,19 @@ package world
 import (
 	"gearbox/api"
 	"gearbox/prim"
-	"gearbox/show"
 )
 
-// fall: a frame of registers is one of the first gear then, at the place that its exit tells.
+// fall: a frame of another gear is one of the first gear then, at the place that its exit, or its state, tells.
 func (w *World) fall(f *frame) {
-	i := f.code.Code[f.place]
 	w.met("falls at " + w.name(f))
-	slots := f.slots()
+	pc, slots := 0, f.slots()
+	if f.tour != nil {
+		pc = f.tour.graph.States[f.tour.state()].Pc
+	} else {
+		pc = f.code.Exits[f.code.Code[f.place].Exit].Pc
+	}
 	locals := w.Program[f.fn].Locals
-	*f = frame{fn: f.fn, closed: f.closed, place: f.code.Exits[i.Exit].Pc, locals: slots[:locals:locals], stack: slots[locals:]}
+	*f = frame{fn: f.fn, closed: f.closed, place: pc, locals: slots[:locals:locals], stack: slots[locals:]}
 }
 
 // regIns: the instruction of registers at the place of the last frame.
@@ -40,12 +43,7 @@ func (w *World) regIns(f *frame) {
 			f.place = int(i.N)
 		}
 	case api.RCall:
-		if w.refuses(l[0], len(l)-1) != "" {
-			w.fall(f)
-		} else if w.point() {
-			f.taken = len(l)
-			w.begin(w.store[l[0].N-1].Fn, l[0], l[1:])
-		}
+		w.callOrFall(f, l)
 	case api.RReturn:
 		w.back(l[0])
 	case api.RThrow:
@@ -57,21 +55,12 @@ func (w *World) regIns(f *frame) {
 
 // regDeed: an instruction that does something, and goes on.
 func (w *World) regDeed(f *frame, i api.RegIns, l []api.Val) {
-	d := w.regOperation(f, i, l)
-	if d.Thrown != "" {
-		w.fall(f)
+	d, ok := w.did(f, i, l)
+	if !ok {
 		return
 	}
-	if !w.asks(d.Words) {
-		return
-	}
-	w.store = d.Store
 	if i.To >= 0 {
 		f.regs[i.To] = d.Val
-	}
-	if i.Op == api.RPrint {
-		s, _ := show.Text(w.store, l[0])
-		w.out.Out = append(w.out.Out, s)
 	}
 	f.place++
 }

@@ -5,7 +5,6 @@ import (
 
 	"gearbox/api"
 	"gearbox/prim"
-	"gearbox/show"
 )
 
 // instruction: the one at the place of the last frame.
@@ -94,8 +93,7 @@ func (w *World) deed(f *frame, i api.Ins) {
 	case api.OpCell:
 		f.locals[i.A] = d.Val
 	case api.OpPrint:
-		s, _ := show.Text(w.store, l[0])
-		w.out.Out = append(w.out.Out, s)
+		w.prints(l[0])
 	case api.OpCellStore, api.OpUpStore, api.OpPop, api.OpPut:
 	default:
 		f.stack = append(f.stack, d.Val)

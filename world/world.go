@@ -18,17 +18,20 @@ type Met map[string]int
 type World struct {
 	Program    api.Program
 	Codes      map[int]api.RegFn // code of registers of some of its functions
+	Graphs     []api.Graph       // graphs of some others
 	Room, Fuel int
 	Met        Met
 
-	store    api.Store
-	frames   []*frame
-	out      api.Outcome
-	words    []string // what instructions are called
-	regWords []string
+	store     api.Store
+	frames    []*frame
+	out       api.Outcome
+	words     []string // what instructions are called
+	regWords  []string
+	nodeWords []string
+	endWords  []string
 }
 
-// frame is one of either kind.
+// frame is one of any gear.
 type frame struct {
 	fn     int
 	closed api.Val
@@ -39,16 +42,21 @@ type frame struct {
 	code  *api.RegFn // nil: it has none
 	regs  []api.Val
 	taken int // how many values the call took for which it waits
+
+	tour *tour // nil: it has none
 }
 
 // Tells: what the run comes to.
 func (w *World) Tells() api.Outcome {
-	w.words, w.regWords = trials.Words(), trials.RegWords()
+	w.words, w.regWords, w.nodeWords, w.endWords = trials.Words(), trials.RegWords(), trials.NodeWords(), trials.EndWords()
 	w.begin(0, api.Val{}, nil)
 	for w.out.End == api.EndNone {
-		if f := w.top(); f.code != nil {
+		switch f := w.top(); {
+		case f.tour != nil:
+			w.graphNode(f)
+		case f.code != nil:
 			w.regIns(f)
-		} else {
+		default:
 			w.instruction(f)
 		}
 	}
@@ -69,6 +77,10 @@ func (w *World) leave() { w.frames = w.frames[:len(w.frames)-1] }
 
 // slots: of a frame at its place.
 func (f *frame) slots() []api.Val {
+	if f.tour != nil {
+		l := f.tour.slots()
+		return l[:len(l)-f.taken]
+	}
 	if f.code == nil {
 		return slices.Concat(f.locals, f.stack)
 	}
@@ -108,6 +120,12 @@ func (w *World) asks(words int) bool {
 
 // name: what the instruction at a frame's place is called.
 func (w *World) name(f *frame) string {
+	if f.tour != nil {
+		if n, ok := f.tour.node(); ok {
+			return w.nodeWords[f.tour.graph.Nodes[n].Op]
+		}
+		return w.endWords[f.tour.graph.Blocks[f.tour.block].End]
+	}
 	if f.code != nil {
 		return w.regWords[f.code.Code[f.place].Op]
 	}
@@ -125,7 +143,7 @@ func (w *World) throwText(s string) {
 func (w *World) throw(v api.Val) {
 	for up := 0; len(w.frames) > 0; up++ {
 		f := w.top()
-		if f.code != nil {
+		if f.code != nil || f.tour != nil {
 			w.met("waiting falls")
 			w.fall(f)
 		}
@@ -187,6 +205,12 @@ func (w *World) begin(fn int, closed api.Val, args []api.Val) {
 		f.locals = append(f.locals, api.Val{})
 	}
 	w.frames = append(w.frames, f)
+	for _, g := range w.Graphs {
+		if g.Fn == fn {
+			w.met("begins as a graph")
+			f.tour = &tour{graph: &g, entry: slices.Clone(f.locals), told: map[int]api.Val{}}
+		}
+	}
 	c, ok := w.Codes[fn]
 	if !ok {
 		return
@@ -210,10 +234,20 @@ func (w *World) back(v api.Val) {
 		return
 	}
 	f := w.top()
-	if f.code != nil {
+	switch {
+	case f.tour != nil:
+		f.tour.next(v)
+		f.taken = 0
+	case f.code != nil:
 		f.regs[f.code.Code[f.place].To], f.taken = v, 0
-	} else {
+	default:
 		f.stack = append(f.stack, v)
 	}
 	f.place++
+}
+
+// prints: a value's text is told.
+func (w *World) prints(v api.Val) {
+	s, _ := show.Text(w.store, v)
+	w.out.Out = append(w.out.Out, s)
 }
