@@ -1,7 +1,6 @@
 package trials
 
 import (
-	"slices"
 	"strings"
 
 	"gearbox/api"
@@ -70,8 +69,11 @@ func Ahead(g api.Graph) {
 	}
 	for b, x := range g.Blocks {
 		for _, to := range x.Next {
-			if to >= 0 && to < len(g.Blocks) && !slices.Contains(g.Blocks[to].Ahead, b) {
-				g.Blocks[to].Ahead = append(g.Blocks[to].Ahead, b)
+			if to < 0 || to >= len(g.Blocks) {
+				continue
+			}
+			if ahead := g.Blocks[to].Ahead; len(ahead) == 0 || ahead[len(ahead)-1] != b {
+				g.Blocks[to].Ahead = append(ahead, b)
 			}
 		}
 	}
