@@ -96,15 +96,15 @@ func (c *checker) statesMayBe() bool {
 // nodesMayBe: of nodes that stand in blocks.
 func (c *checker) nodesMayBe() bool {
 	entered := make([]bool, c.graph.Slots) // is there a NoSlot of it already?
-	phis := none                           // the last block in which something else than phis stands
+	others := none                         // the last block in which something else than phis stands
 	for b, n := range nodes(c.graph.Blocks) {
 		x := &c.graph.Nodes[n]
 		if !c.nodeMayBe(x) {
 			return false
 		}
 		if x.Op != api.NoPhi {
-			phis = b
-		} else if b == 0 || phis == b || len(x.Args) != len(c.graph.Blocks[b].Ahead) {
+			others = b
+		} else if b == 0 || others == b || len(x.Args) != len(c.graph.Blocks[b].Ahead) {
 			return false
 		}
 		if x.Op == api.NoSlot {

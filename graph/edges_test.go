@@ -128,6 +128,12 @@ func TestCheckAhead(t *testing.T) {
 			wantCheck(t, edged(), g, slices.Equal(ahead, right))
 		}
 	}
+	// a block that leads to one twice
+	for _, ahead := range [][]int{{0}, {0, 0}} {
+		g := trials.Graph(2, "Value; Unless 0 >1 >1 s0 | Return 0", mains)
+		g.Blocks[1].Ahead = ahead
+		wantCheck(t, edged(), g, false)
+	}
 }
 
 // P16.1: states, be they had by one or not; only where they are had they need be reached.
