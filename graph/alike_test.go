@@ -29,7 +29,7 @@ func rooms(d *samples.Dice, p api.Program, l []api.Graph, fuel int) []int {
 func TestAnyAlike(t *testing.T) {
 	t.Parallel()
 	m := world.Met{}
-	for seed := range 4000 {
+	for seed := range 2500 {
 		p, d := samples.Code(seed), samples.Dice(seed)
 		l := graphsOf(t, &d, p, samples.Graph, func(int) bool { return d.Below(5) > 0 })
 		fuel := d.Below(30)
@@ -39,7 +39,7 @@ func TestAnyAlike(t *testing.T) {
 	}
 	for _, s := range append(trials.NodeWords()[1:], trials.EndWords()[1:]...) {
 		if s != "NoPhi" {
-			enough(t, m, 100, s)
+			enough(t, m, 50, s)
 		}
 		switch s {
 		case "NoPhi", "NoSlot", "NoValue", "NoUp", "BkJump", "BkLoop", "BkReturn", "NoConst", "NoUpStore", "NoShow", "NoPrint":

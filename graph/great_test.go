@@ -174,7 +174,7 @@ func TestMostFuel(t *testing.T) {
 	at := slices.IndexFunc(p[0].Code, func(i api.Ins) bool { return i.Op == api.OpCall })
 	loop := trials.Graph(1, "Fn n1 s0; Jump >1 | Call 0 s1; Loop >1 s0", "0: nil; 0: 0 0")
 	loop.States[1].Pc = at
-	first := ofFirst(trials.Graph(0, strings.Repeat("Value; ", 60)+"Return 59", ""))
+	first := ofFirst(trials.Graph(0, strings.Repeat("Value; ", 20)+"Return 19", ""))
 	for _, l := range [][]api.Graph{{loop}, {first}, {loop, first}} {
 		if o := run(t, p, l, api.MaxWords, api.MaxFuel); o.End != api.EndFuel || o.Words > 2 || o.Fuel != 0 {
 			t.Error(o)

@@ -166,7 +166,7 @@ func (s *spoiler) whole() {
 func TestCheckAny(t *testing.T) {
 	t.Parallel()
 	may := map[bool]int{}
-	for seed := range 6000 {
+	for seed := range 3000 {
 		p, d := samples.Code(seed), samples.Dice(seed)
 		fn := d.Below(len(p))
 		depths := depthsOf(t, p, fn)
@@ -183,7 +183,7 @@ func TestCheckAny(t *testing.T) {
 			may[checked(t, p, spoilt(&d, g))]++
 		}
 	}
-	if may[true] < 5000 || may[false] < 20000 {
+	if may[true] < 2500 || may[false] < 10000 {
 		t.Error(may)
 	}
 }
