@@ -75,26 +75,26 @@ func (f *frame) args(l []int) []api.Val {
 	return f.taken
 }
 
-// Holds: roots are the values that its state tells.
-func (f *frame) Holds(yield func(v *api.Val, root bool) bool) {
-	told := make([]bool, len(f.values))
-	_, slots := f.told()
-	for _, n := range slots {
-		if n != none {
-			told[f.code.place[n]] = true
-		}
-	}
-	for at := range f.values {
-		if v := &f.values[at]; v.Kind >= api.Text && !yield(v, told[at]) {
+// Roots: what its state tells.
+func (f *frame) Roots(yield func(v *api.Val) bool) {
+	_, told := f.told()
+	for _, n := range told {
+		if n != none && !yield(&f.values[f.code.place[n]]) {
 			return
 		}
 	}
-	for n := range f.slots {
-		if !yield(&f.slots[n], false) {
-			return
+	yield(&f.by)
+}
+
+// Beside: what nodes came to, and what it was come into with.
+func (f *frame) Beside(yield func(v *api.Val) bool) {
+	for _, l := range [][]api.Val{f.values, f.slots} {
+		for n := range l {
+			if l[n].Kind >= api.Text && !yield(&l[n]) {
+				return
+			}
 		}
 	}
-	yield(&f.by, true)
 }
 
 // Fallen: the frame of the first gear that its state tells.

@@ -56,7 +56,7 @@ func TestManyBlocks(t *testing.T) {
 	t.Parallel()
 	const many = 1 << 18
 	wantDone(t, nothing(), chain(many), 1, 0)
-	wantDone(t, nothing(), chain(1<<12, "Value", "Const s0", "Print 0 s0"), 3, 0)
+	wantDone(t, nothing(), chain(many, "Value", "Const s0", "Print 0 s0"), 3, 0)
 	// each of them leads to the last one
 	fork := trials.Graph(0, "Value Bool; Unless 0 >262144 >1 s0", "0:")
 	for b := 1; b < many-1; b++ {
@@ -187,8 +187,8 @@ func TestMostFrames(t *testing.T) {
 	t.Parallel()
 	p := of(t, `var f = fn(n) { if n == 0 { return 0; } "text"; return f(n - 1); }; f(126); print "end";`)
 	at := slices.IndexFunc(p[1].Code, func(i api.Ins) bool { return i.Op == api.OpCall })
-	held := strings.Repeat("Const n1 s0; ", 40)
-	f := ofFirst(trials.Graph(1, "Slot n0; Value Int; Value Int n1; Bin 0 1 Same s0; Unless 3 >1 >2 s0 | Return 1 |"+held+"Up n0; IntBin 0 2 Sub s0; Call 44 45 s1; Return 46", "0: 0; 0: 0 44 45"))
+	held := strings.Repeat("Const n1 s0; ", 400)
+	f := ofFirst(trials.Graph(1, "Slot n0; Value Int; Value Int n1; Bin 0 1 Same s0; Unless 3 >1 >2 s0 | Return 1 |"+held+"Up n0; IntBin 0 2 Sub s0; Call 404 405 s1; Return 406", "0: 0; 0: 0 404 405"))
 	f.States[1].Pc = at
 	for room, end := range map[int]api.EndKind{8: api.EndRoom, 9: api.EndRoom, 10: api.EndDone, 11: api.EndDone, 20: api.EndDone} {
 		o := modelled(t, p, []api.Graph{f}, room, api.MaxFuel)

@@ -128,8 +128,11 @@ func (g *Ground) led(roots, others []api.Val) []api.Val {
 
 func isObject(v api.Val) bool { return v.Kind >= api.Text }
 
+// Crammed: there is no other way to more room.
+func (g *Ground) Crammed() bool { return true }
+
 // Again: behind a collection there is nothing beside what the roots lead to.
-func (g *Ground) Again() {}
+func (g *Ground) Again(func() []api.Val) {}
 
 // Reached: how many words the roots lead to.
 func (g *Ground) Reached(roots []api.Val) int {

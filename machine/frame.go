@@ -6,8 +6,10 @@ import "gearbox/api"
 type Frame interface {
 	// Step: the next instruction is done.
 	Step(m *Machine)
-	// Holds goes to the values that it holds, and tells which are roots; those that are no objects it may leave out.
-	Holds(yield func(v *api.Val, root bool) bool)
+	// Roots goes to its values that are roots, to some of them more than once.
+	Roots(yield func(v *api.Val) bool)
+	// Beside goes to the other objects that it holds; roots may be among them.
+	Beside(yield func(v *api.Val) bool)
 	// Gets: what the call that it waits for comes to; it goes on behind that.
 	Gets(v api.Val)
 }

@@ -29,8 +29,10 @@ type Ground interface {
 
 	// Collect: what the roots do not lead to goes. They are answered as they are then; so are others that the run still holds, though they are no roots.
 	Collect(roots, others []api.Val) (movedRoots, movedOthers []api.Val)
-	// Again: an operation that found no room is done again behind a collection. What is no more than held takes no room in it.
-	Again()
+	// Crammed: where an operation found no room, is a collection wanted, ahead of its being done again?
+	Crammed() bool
+	// Again: the operation that is done next found no room. What the roots do not lead to takes none in it.
+	Again(roots func() []api.Val)
 	// Reached: how many words these values lead to.
 	Reached(roots []api.Val) int
 }

@@ -2,6 +2,8 @@
 package machine
 
 import (
+	"iter"
+
 	"gearbox/api"
 	"gearbox/verify"
 )
@@ -58,48 +60,57 @@ func (m *Machine) Run() api.Outcome {
 	for m.end == api.EndNone {
 		m.top().Step(m)
 	}
-	roots, _ := m.held()
-	o := api.Outcome{End: m.end, Out: m.out, Fuel: m.fuel, Words: m.ground.Reached(roots)}
+	o := api.Outcome{End: m.end, Out: m.out, Fuel: m.fuel, Words: m.ground.Reached(values(m.roots))}
 	if m.end == api.EndThrown {
 		o.Value = m.text(m.thrown)
 	}
 	return o
 }
 
-// Collect: the ground has just what the run can reach.
+// Collect: the ground has just what the run can reach, and what it holds beside.
 func (m *Machine) Collect() {
-	roots, others := m.ground.Collect(m.held())
-	for v, root := range m.holds {
-		if root {
-			*v, roots = roots[0], roots[1:]
-		} else {
-			*v, others = others[0], others[1:]
-		}
-	}
+	roots, others := m.ground.Collect(values(m.roots), values(m.beside))
+	put(m.roots, roots)
+	put(m.beside, others)
 }
 
-// holds goes to all values that the run holds, and tells which are roots: those of its frames, and what was thrown, when they are gone.
-func (m *Machine) holds(yield func(v *api.Val, root bool) bool) {
+// roots goes to those of its frames, and to what was thrown, when they are gone.
+func (m *Machine) roots(yield func(v *api.Val) bool) {
 	for _, f := range m.frames {
-		for v, root := range f.Holds {
-			if !yield(v, root) {
+		for v := range f.Roots {
+			if !yield(v) {
 				return
 			}
 		}
 	}
-	yield(&m.thrown, true)
+	yield(&m.thrown)
 }
 
-// held: the roots of the run, and what else it holds.
-func (m *Machine) held() (roots, others []api.Val) {
-	for v, root := range m.holds {
-		if root {
-			roots = append(roots, *v)
-		} else {
-			others = append(others, *v)
+// beside goes to what else its frames hold.
+func (m *Machine) beside(yield func(v *api.Val) bool) {
+	for _, f := range m.frames {
+		for v := range f.Beside {
+			if !yield(v) {
+				return
+			}
 		}
 	}
-	return roots, others
+}
+
+// values: as they are.
+func values(held iter.Seq[*api.Val]) []api.Val {
+	var l []api.Val
+	for v := range held {
+		l = append(l, *v)
+	}
+	return l
+}
+
+// put: they are these from now on.
+func put(held iter.Seq[*api.Val], l []api.Val) {
+	for v := range held {
+		*v, l = l[0], l[1:]
+	}
 }
 
 // text: of a value that is no cell; where it is too long, what would be thrown for it.
@@ -132,8 +143,10 @@ func (m *Machine) Point() bool {
 func (m *Machine) Did(operation func() Did) (Did, bool) {
 	d := operation()
 	if d.Full {
-		m.Collect()
-		m.ground.Again()
+		if m.ground.Crammed() {
+			m.Collect()
+		}
+		m.ground.Again(func() []api.Val { return values(m.roots) })
 		d = operation()
 	}
 	if d.Full {

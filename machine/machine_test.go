@@ -83,12 +83,16 @@ func TestAheadOfPoint(t *testing.T) {
 	}
 }
 
-// A ground is collected where there is no room for what an instruction asks for, and nowhere else.
+// A heap is collected where there is no room for what an instruction asks for, and nowhere else; a space not as often.
 func TestCollectedForRoom(t *testing.T) {
 	p := of(t, `var i = 0; while i < 10 { i = i + 1; "a"; }`)
 	for room, times := range map[int]int{3: 9, 5: 9, 6: 4, 9: 3, 15: 1, 29: 1, 30: 0} {
 		for _, g := range grounds(room) {
-			if o := machine.New(p, g, 100).Run(); o.End != api.EndDone || g.collected != times {
+			least := times
+			if _, is := g.Ground.(*space.Space); is {
+				least = min(times, 1)
+			}
+			if o := machine.New(p, g, 100).Run(); o.End != api.EndDone || g.collected < least || g.collected > times {
 				t.Errorf("room %d: %v, %d collections", room, o, g.collected)
 			}
 		}

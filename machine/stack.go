@@ -28,15 +28,18 @@ func (f *Stack) Step(m *Machine) {
 	m.deeds[i.Op](m, f, i.A)
 }
 
-// Holds: all that it holds are roots.
-func (f *Stack) Holds(yield func(v *api.Val, root bool) bool) {
+// Roots: all that it holds.
+func (f *Stack) Roots(yield func(v *api.Val) bool) {
 	for i := range f.slots {
-		if !yield(&f.slots[i], true) {
+		if !yield(&f.slots[i]) {
 			return
 		}
 	}
-	yield(&f.by, true)
+	yield(&f.by)
 }
+
+// Beside: nothing.
+func (f *Stack) Beside(func(v *api.Val) bool) {}
 
 // Gets: a call's value is pushed.
 func (f *Stack) Gets(v api.Val) {

@@ -49,20 +49,23 @@ func (f *Frame) Step(m *machine.Machine) {
 	f.operate(m, d.operation, i)
 }
 
-// Holds: roots are the registers that its exit tells. Of the others there may be very many: only those that hold objects are gone to.
-func (f *Frame) Holds(yield func(v *api.Val, root bool) bool) {
-	told := make([]bool, len(f.regs))
+// Roots: the registers that its exit tells.
+func (f *Frame) Roots(yield func(v *api.Val) bool) {
 	for _, l := range f.told() {
-		if l.Reg >= 0 {
-			told[l.Reg] = true
-		}
-	}
-	for r := range f.regs {
-		if v := &f.regs[r]; v.Kind >= api.Text && !yield(v, told[r]) {
+		if l.Reg >= 0 && !yield(&f.regs[l.Reg]) {
 			return
 		}
 	}
-	yield(&f.by, true)
+	yield(&f.by)
+}
+
+// Beside: what registers hold.
+func (f *Frame) Beside(yield func(v *api.Val) bool) {
+	for r := range f.regs {
+		if v := &f.regs[r]; v.Kind >= api.Text && !yield(v) {
+			return
+		}
+	}
 }
 
 // Gets: a call's value goes to the To of its instruction.

@@ -11,6 +11,8 @@ import (
 type objects struct {
 	store api.Store
 	words []int   // of each object
+	met   []int   // of each object: the last turn in which it was met
+	turn  int     // how often it was asked what values lead to
 	free  []int64 // numbers that are no object's
 	used  int     // the words of all objects
 }
@@ -25,7 +27,7 @@ func (o *objects) add(made api.Obj, words int) api.Val {
 		o.store[n-1], o.words[n-1] = made, words
 		return api.Val{Kind: made.Kind, N: n}
 	}
-	o.store, o.words = append(o.store, made), append(o.words, words)
+	o.store, o.words, o.met = append(o.store, made), append(o.words, words), append(o.met, 0)
 	return api.Val{Kind: made.Kind, N: int64(len(o.store))}
 }
 
@@ -39,11 +41,11 @@ func (o *objects) change(c plain.Change, asked int) {
 	}
 }
 
-// keep: of all objects these alone are there.
-func (o *objects) keep(reached []bool) {
+// keep: those alone are there that were met in this turn.
+func (o *objects) keep() {
 	o.used, o.free = 0, o.free[:0]
-	for i, is := range reached {
-		if is {
+	for i, met := range o.met {
+		if met == o.turn {
 			o.used += o.words[i]
 			continue
 		}
@@ -52,39 +54,25 @@ func (o *objects) keep(reached []bool) {
 	}
 }
 
-// wordsOf: of some objects, how many words they have.
-func (o *objects) wordsOf(which []bool) int {
-	n := 0
-	for i, is := range which {
-		if is {
-			n += o.words[i]
-		}
-	}
-	return n
-}
-
-// reached: of each object, whether the roots lead to it.
-func (o *objects) reached(roots []api.Val) []bool {
-	return o.reachedBeside(make([]bool, len(o.store)), roots)
-}
-
-// reachedBeside: those that were met, and those that some roots lead to beside. Objects may lie deeper in one another than calls should, so that those that are to be gone to are kept in a list.
-func (o *objects) reachedBeside(met []bool, roots []api.Val) []bool {
+// meet: how many words these values lead to that were not met in this turn. Objects may lie deeper in one another than calls should, so that those that are to be gone to are kept in a list.
+func (o *objects) meet(values []api.Val) int {
+	words := 0
 	var todo []int64
-	meet := func(l []api.Val) {
+	see := func(l []api.Val) {
 		for _, v := range l {
-			if v.Kind >= api.Text && !met[v.N-1] {
-				met[v.N-1] = true
+			if v.Kind >= api.Text && o.met[v.N-1] != o.turn {
+				o.met[v.N-1] = o.turn
+				words += o.words[v.N-1]
 				todo = append(todo, v.N)
 			}
 		}
 	}
-	meet(roots)
+	see(values)
 	for len(todo) > 0 {
 		last := len(todo) - 1
 		n := todo[last]
 		todo = todo[:last]
-		meet(o.store[n-1].L)
+		see(o.store[n-1].L)
 	}
-	return met
+	return words
 }

@@ -12,7 +12,7 @@ type Space struct {
 	objects
 	signs  plain.Signs
 	room   int
-	beside int // the words of what was kept in the last collection, though the roots did not lead to it
+	enough int // so many words are wanted for the next collection to be worth its while
 	spare  int // how many words more there is room for in the operation that is done next
 }
 
@@ -84,15 +84,22 @@ func (s *Space) CellOf(fn api.Val, n int) api.Val { return s.store[fn.N-1].L[n] 
 
 // Collect: what neither the roots nor the others lead to goes; the rest keep their numbers.
 func (s *Space) Collect(roots, others []api.Val) (movedRoots, movedOthers []api.Val) {
-	reached := s.reached(roots)
-	rooted := s.wordsOf(reached)
-	s.keep(s.reachedBeside(reached, others))
-	s.beside = s.used - rooted
+	s.turn++
+	s.meet(roots)
+	s.meet(others)
+	s.keep()
+	s.enough = 2*s.used + s.room + len(roots) + len(others)
 	return roots, others
 }
 
-// Again: what the roots did not lead to takes no room in the operation that is done next.
-func (s *Space) Again() { s.spare = s.beside }
+// Crammed: is there as much more than in the last collection as that had to go through? There may be very much that no root leads to, and it need not go: it takes no room.
+func (s *Space) Crammed() bool { return s.used >= s.enough }
+
+// Again: what the roots do not lead to takes no room in the operation that is done next.
+func (s *Space) Again(roots func() []api.Val) { s.spare = s.used - s.Reached(roots()) }
 
 // Reached: how many words the roots lead to.
-func (s *Space) Reached(roots []api.Val) int { return s.wordsOf(s.reached(roots)) }
+func (s *Space) Reached(roots []api.Val) int {
+	s.turn++
+	return s.meet(roots)
+}

@@ -25,11 +25,17 @@ func newDesk(room int) *desk { return &desk{Space: space.New(room)} }
 func (d *desk) do(operation func() machine.Did) machine.Did {
 	did := operation()
 	if did.Full {
-		d.roots, _ = d.Collect(d.roots, nil)
+		if d.Crammed() {
+			d.roots, _ = d.Collect(d.roots, nil)
+		}
+		again(d.Space, d.roots...)
 		did = operation()
 	}
 	return did
 }
+
+// again: the operation that is done next found no room.
+func again(s *space.Space, roots ...api.Val) { s.Again(func() []api.Val { return roots }) }
 
 // comes: what an operation comes to, that there is room for, or none for.
 func (d *desk) comes(t *testing.T, room bool, operation func() machine.Did) api.Val {
@@ -144,10 +150,10 @@ func TestBeside(t *testing.T) {
 		t.Error(roots, others)
 	}
 	full(true) // not again
-	s.Again()
+	again(s, a)
 	full(false)
 	full(true)
-	s.Again()
+	again(s, a)
 	if did := s.Len(b); did.Val != whole(1) {
 		t.Error(did)
 	}
@@ -160,11 +166,34 @@ func TestBeside(t *testing.T) {
 	if n := s.Reached([]api.Val{a}); n != 3 {
 		t.Error(n)
 	}
+	again(s, a, b, a, c) // now all are roots
+	full(true)
 	s.Collect([]api.Val{a}, []api.Val{a, whole(9)}) // what a root leads to is beside nothing
-	s.Again()
 	full(false)
 	full(false)
 	full(true)
+	again(s, a)
+	full(false)
+}
+
+// A collection is wanted at first, and then where there is as much more as the last one went through, and the room; not for each word that is beside.
+func TestCrammed(t *testing.T) {
+	s := space.New(10)
+	for range 3 {
+		if !s.Crammed() {
+			t.Error("not crammed")
+		}
+		s.Collect(nil, nil)
+		a, b, c := s.Text("a").Val, s.Text("b").Val, s.Text("c").Val
+		s.Collect([]api.Val{a}, []api.Val{b, c})
+		for used := 9; used < 2*9+10+3; used += 3 {
+			if s.Crammed() {
+				t.Error(used)
+			}
+			again(s, a)
+			s.Text("d")
+		}
+	}
 }
 
 // What others lead to is beside, however deep; of what the roots lead to, too, nothing.
@@ -174,11 +203,11 @@ func TestBesideDeep(t *testing.T) {
 	l := s.List([]api.Val{a, a}).Val // 8 words
 	m := s.Cell(l).Val
 	s.Collect([]api.Val{a}, []api.Val{m}) // 3 are counted, 11 beside
-	s.Again()
+	again(s, a)
 	if did := s.Text(strings.Repeat("12345678", 10)); !did.Full { // 12 words
 		t.Error(did)
 	}
-	s.Again()
+	again(s, a)
 	if did := s.Text(strings.Repeat("12345678", 9)); did.Full {
 		t.Error(did)
 	}
@@ -192,7 +221,7 @@ func TestAsksNothing(t *testing.T) {
 	s := space.New(6)
 	a, b := s.Text("a").Val, s.Text("b").Val
 	s.Collect(nil, []api.Val{a, b})
-	s.Again()
+	again(s)
 	c := s.Cell(a).Val // 9 words in all
 	if did := s.Store(c, b); did.Full || did.Thrown != "" {
 		t.Error(did)
