@@ -58,6 +58,13 @@ func TestLateSlots(t *testing.T) {
 	g := ofFirst(trials.Graph(2, "Value Int n5; Print 0 s0; List s0; Slot n1; Put 2 7 3 s0; Slot n0; List 5 3 2 s0; Value Int; Print 6 s0; Return 0", "0: nil nil"))
 	g.Blocks[0].Nodes = []int{0, 1, 2, 3, 7, 4, 5, 6, 8}
 	wantOut(t, p, []api.Graph{g}, "5", "[a, b, [b]]")
+	// it is still there behind a collection
+	g = ofFirst(trials.Graph(2, "List s0; List s0; Slot n1; Slot n0; Print 2 s0; Print 3 s0; Return 2", "0: nil nil"))
+	for room := 8; room < 15; room++ {
+		if o := alike(t, p, []api.Graph{g}, room, 9, nil); !slices.Equal(o.Out, []string{"b", "a"}) {
+			t.Error(room, o)
+		}
+	}
 	// what the frame was come into with takes no room, unless a state tells it
 	for states, most := range map[string]int{"0: nil nil": 7, "0: nil nil; 0: 2 nil": 7, "0: 2 nil": 8, "0: 2 2": 8, "0: 2 3": 11} {
 		g = ofFirst(trials.Graph(2, "Value; Value; Slot n1; Slot n0; Show 2 s0; Print 4 s0; Return 2", states))
