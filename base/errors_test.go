@@ -3,7 +3,6 @@ package base_test
 import (
 	"math"
 	"reflect"
-	"strings"
 	"testing"
 
 	"gearbox/api"
@@ -30,30 +29,7 @@ func TestErrors(t *testing.T) {
 			t.Error(fn, e)
 		}
 	}
-	many := make(api.Program, api.MaxFns+1)
-	for n := range many {
-		many[n] = trials.Fn("Nil Return")
-	}
-	wrong := []api.Program{
-		nil, {},
-		{{}},
-		{trials.Fn("Nil")},
-		{trials.Fn("Nil Return", trials.Params(1))},
-		{trials.Fn("Pop Nil Return")},
-		{trials.Fn("Load Return")},
-		{trials.Fn("Const Return")},
-		{trials.Fn("Jump 0 Nil Return")},
-		{trials.Fn("Nil Return"), trials.Fn("Nil")},
-		{trials.Fn("Nil Return"), trials.Fn("Up Return", trials.Caps(api.Cap{}))},
-		{trials.Fn("Nil Return", trials.Locals(api.MaxLocals+1))},
-		{trials.Fn(strings.Repeat("Nil ", api.MaxStack+1) + "Return")},
-		{trials.Fn("None Nil Return")},
-		{{Code: []api.Ins{{Op: 31}, {Op: api.OpLoop}}, Lines: make([]int, 2)}},
-		{{Code: []api.Ins{{Op: 255}, {Op: api.OpLoop}}, Lines: make([]int, 2)}},
-		{{Code: []api.Ins{{Op: api.OpLoop}}}},
-		many,
-	}
-	for _, p := range wrong {
+	for _, p := range trials.Wrong() {
 		for _, fn := range []int{0, 1, -1, 9, math.MinInt, math.MaxInt} {
 			wantError(t, p, fn, api.ErrForm)
 		}

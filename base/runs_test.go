@@ -1,7 +1,6 @@
 package base_test
 
 import (
-	"slices"
 	"testing"
 
 	"gearbox/api"
@@ -12,33 +11,23 @@ import (
 	"gearbox/trials"
 )
 
-func sameOutcome(a, b api.Outcome) bool {
-	return a.End == b.End && a.Value == b.Value && slices.Equal(a.Out, b.Out) && a.Fuel == b.Fuel && a.Words == b.Words
-}
-
 // modelled: a run with code of registers is what model says of the program alone.
 func modelled(t *testing.T, p api.Program, codes map[int]api.RegFn, room, fuel int) api.Outcome {
 	t.Helper()
 	o, e := reg.Run(p, codes, room, fuel)
 	w, we := model.Run(p, room, fuel)
-	if e != api.OK || we != api.OK || !sameOutcome(o, w) {
+	if e != api.OK || we != api.OK || !trials.Alike(o, w) {
 		t.Fatalf("%s, code of %d functions, room %d, fuel %d:\n%s, %d, want\n%s, %d", brief(p), len(codes), room, fuel, brief(o), e, brief(w), we)
 	}
 	return o
 }
 
-// enough: the least room with which a run does not end for want of it, if that is not very much.
-func enough(p api.Program, fuel int) int {
-	least := 1
-	for most := 4000; least < most; {
-		middle := (least + most) / 2
-		if o, _ := model.Run(p, middle, fuel); o.End == api.EndRoom {
-			least = middle + 1
-		} else {
-			most = middle
-		}
-	}
-	return least
+// rooms: any, and the least one with which the run does not end for want of it, and one less.
+func rooms(d *samples.Dice, p api.Program, fuel int) []int {
+	return trials.Rooms(d.Below, func(room int) api.EndKind {
+		o, _ := model.Run(p, room, fuel)
+		return o.End
+	})
 }
 
 // sample: a program, as code or, now and then, as text.
@@ -70,8 +59,7 @@ func TestRuns(t *testing.T) {
 			codesOf(t, p, func(int) bool { return d.Below(2) == 0 }),
 			codesOf(t, p, func(fn int) bool { return fn == one }),
 		}
-		least := enough(p, fuel)
-		for _, room := range []int{1 + d.Below(20), 1 + d.Below(200), api.MaxWords, least, max(1, least-1)} {
+		for _, room := range rooms(&d, p, fuel) {
 			for _, codes := range picks {
 				ends[modelled(t, p, codes, room, fuel).End]++
 			}

@@ -236,22 +236,7 @@ func TestSpoilt(t *testing.T) {
 	right, wrong := 0, 0
 	for seed := range 4000 {
 		p, d := samples.Code(seed), samples.Dice(seed)
-		for range 1 + d.Below(2) {
-			f := &p[d.Below(len(p))]
-			i := d.Below(len(f.Code))
-			switch d.Below(6) {
-			case 0:
-				f.Code[i].Op = api.Op(d.Below(int(api.OpPrint) + 3))
-			case 1:
-				f.Code[i] = f.Code[d.Below(len(f.Code))]
-			case 2:
-				f.Locals += d.Below(3) - 1
-			case 3:
-				f.Handlers = append(f.Handlers, api.Handler{From: i, To: i + 1, At: i + 1 + d.Below(4), Deep: d.Below(3)})
-			default:
-				f.Code[i].A += d.Below(5) - 2
-			}
-		}
+		samples.Spoil(&d, p)
 		_, _, e := verify.Check(p)
 		if e == api.OK {
 			right++

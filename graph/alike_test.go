@@ -13,16 +13,10 @@ import (
 
 // rooms: any, and the least one with which the run does not end for want of it, and one less.
 func rooms(d *samples.Dice, p api.Program, l []api.Graph, fuel int) []int {
-	least := 1
-	for most := 4000; least < most; {
-		middle := (least + most) / 2
-		if o, _ := graph.Run(p, l, middle, fuel); o.End == api.EndRoom {
-			least = middle + 1
-		} else {
-			most = middle
-		}
-	}
-	return []int{1 + d.Below(20), 1 + d.Below(200), api.MaxWords, least, max(1, least-1)}
+	return trials.Rooms(d.Below, func(room int) api.EndKind {
+		o, _ := graph.Run(p, l, room, fuel)
+		return o.End
+	})
 }
 
 // P16.2: graphs of every form, against what the chapter tells.

@@ -3,7 +3,6 @@ package graph_test
 import (
 	"fmt"
 	"reflect"
-	"slices"
 	"testing"
 
 	"gearbox/api"
@@ -43,27 +42,12 @@ func brief(x any) string {
 		}
 		return s
 	case api.Graph:
-		s := fmt.Sprintf("graph of %d from %d with %d slots\n", x.Fn, x.Pc, x.Slots)
-		for b, k := range x.Blocks {
-			s += fmt.Sprintf("block %d: ahead %v\n", b, k.Ahead)
-			for _, n := range k.Nodes {
-				if n >= 0 && n < len(x.Nodes) && int(x.Nodes[n].Op) < len(trials.NodeWords()) {
-					i := x.Nodes[n]
-					s += fmt.Sprintf("  %d: %s %v n%d k%d s%d\n", n, trials.NodeWords()[i.Op], i.Args, i.N, i.Kind, i.State)
-				} else {
-					s += fmt.Sprintf("  %d?\n", n)
-				}
-			}
-			s += fmt.Sprintf("  end %d %v >%v s%d\n", k.End, k.Args, k.Next, k.State)
-		}
-		return fmt.Sprintf("%.4000s\n%d nodes, states %.1000s\n", s, len(x.Nodes), fmt.Sprint(x.States))
+		return fmt.Sprintf("%.5000s", trials.Tell(x))
 	}
 	return fmt.Sprintf("%.500s", fmt.Sprintf("%+v", x))
 }
 
-func same(a, b api.Outcome) bool {
-	return a.End == b.End && a.Value == b.Value && slices.Equal(a.Out, b.Out) && a.Fuel == b.Fuel && a.Words == b.Words
-}
+func same(a, b api.Outcome) bool { return trials.Alike(a, b) }
 
 // run: of what may be.
 func run(t *testing.T, p api.Program, l []api.Graph, room, fuel int) api.Outcome {

@@ -7,20 +7,15 @@ import (
 	"gearbox/gen"
 	"gearbox/model"
 	"gearbox/samples"
+	"gearbox/trials"
 )
 
 // rooms: any, and the least one with which the run does not end for want of it, and one less.
 func rooms(d *samples.Dice, p api.Program, fuel int) []int {
-	least := 1
-	for most := 4000; least < most; {
-		middle := (least + most) / 2
-		if o, _ := model.Run(p, middle, fuel); o.End == api.EndRoom {
-			least = middle + 1
-		} else {
-			most = middle
-		}
-	}
-	return []int{1 + d.Below(20), 1 + d.Below(200), api.MaxWords, least, max(1, least-1)}
+	return trials.Rooms(d.Below, func(room int) api.EndKind {
+		o, _ := model.Run(p, room, fuel)
+		return o.End
+	})
 }
 
 // P13.1, P13.2, P0.1: code of every form, with acts of every form.

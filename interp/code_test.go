@@ -12,6 +12,7 @@ import (
 	"gearbox/listing"
 	"gearbox/model"
 	"gearbox/samples"
+	"gearbox/trials"
 )
 
 // of: the code of a text.
@@ -33,9 +34,7 @@ func brief(x any) string {
 	return fmt.Sprintf("%.500s", fmt.Sprintf("%+v", x))
 }
 
-func same(a, b api.Outcome) bool {
-	return a.End == b.End && a.Value == b.Value && slices.Equal(a.Out, b.Out) && a.Fuel == b.Fuel && a.Words == b.Words
-}
+func same(a, b api.Outcome) bool { return trials.Alike(a, b) }
 
 // run: of a program that may be.
 func run(t *testing.T, p api.Program, room, fuel int, acts []api.ActKind) api.Outcome {

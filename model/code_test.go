@@ -47,9 +47,7 @@ func brief(p api.Program) string {
 // told: an outcome, and not too much of it.
 func told(o api.Outcome) string { return fmt.Sprintf("%.500s", fmt.Sprintf("%+v", o)) }
 
-func same(a, b api.Outcome) bool {
-	return a.End == b.End && a.Value == b.Value && slices.Equal(a.Out, b.Out) && a.Fuel == b.Fuel && a.Words == b.Words
-}
+func same(a, b api.Outcome) bool { return trials.Alike(a, b) }
 
 // run: of a program that may be.
 func run(t *testing.T, p api.Program, room, fuel int) api.Outcome {

@@ -7,6 +7,7 @@ import (
 	"gearbox/gen"
 	"gearbox/model"
 	"gearbox/samples"
+	"gearbox/trials"
 	"gearbox/world"
 )
 
@@ -22,16 +23,10 @@ func alike(t *testing.T, p api.Program, room, fuel int, m world.Met) {
 
 // rooms: any, and the least one with which the run does not end for want of it, and one less.
 func rooms(d *samples.Dice, p api.Program, fuel int) []int {
-	least := 1
-	for most := 4000; least < most; {
-		middle := (least + most) / 2
-		if o, _ := model.Run(p, middle, fuel); o.End == api.EndRoom {
-			least = middle + 1
-		} else {
-			most = middle
-		}
-	}
-	return []int{1 + d.Below(20), 1 + d.Below(200), api.MaxWords, least, max(1, least-1)}
+	return trials.Rooms(d.Below, func(room int) api.EndKind {
+		o, _ := model.Run(p, room, fuel)
+		return o.End
+	})
 }
 
 // enough: was each of these met?

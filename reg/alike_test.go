@@ -14,16 +14,10 @@ import (
 
 // rooms: any, and the least one with which the run does not end for want of it, and one less.
 func rooms(d *samples.Dice, p api.Program, codes map[int]api.RegFn, fuel int) []int {
-	least := 1
-	for most := 4000; least < most; {
-		middle := (least + most) / 2
-		if o, _ := reg.Run(p, codes, middle, fuel); o.End == api.EndRoom {
-			least = middle + 1
-		} else {
-			most = middle
-		}
-	}
-	return []int{1 + d.Below(20), 1 + d.Below(200), api.MaxWords, least, max(1, least-1)}
+	return trials.Rooms(d.Below, func(room int) api.EndKind {
+		o, _ := reg.Run(p, codes, room, fuel)
+		return o.End
+	})
 }
 
 // P14.2: code of every form, against what the chapter tells.

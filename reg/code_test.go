@@ -52,9 +52,7 @@ func brief(x any) string {
 	return fmt.Sprintf("%.500s", fmt.Sprintf("%+v", x))
 }
 
-func same(a, b api.Outcome) bool {
-	return a.End == b.End && a.Value == b.Value && slices.Equal(a.Out, b.Out) && a.Fuel == b.Fuel && a.Words == b.Words
-}
+func same(a, b api.Outcome) bool { return trials.Alike(a, b) }
 
 // run: of what may be.
 func run(t *testing.T, p api.Program, codes map[int]api.RegFn, room, fuel int) api.Outcome {

@@ -105,3 +105,53 @@ func TestRegs(t *testing.T) {
 		}
 	}
 }
+
+// Ways lead everywhere: to the next part twice, to and fro past others, over handlers alone, by loops alone.
+func TestWays(t *testing.T) {
+	const seeds = 3000
+	met := map[string]int{}
+	for seed := range seeds {
+		p := samples.Ways(seed)
+		if !reflect.DeepEqual(p, samples.Ways(seed)) {
+			t.Fatalf("%d hangs on more than the seed", seed)
+		}
+		if _, pc, e := verify.Check(p); e != api.OK {
+			t.Fatalf("%d: %d at %d: %v", seed, e, pc, p[0])
+		}
+		depths, _ := verify.Depths(p, 0)
+		ahead := map[int]int{}
+		for pc, i := range p[0].Code {
+			if depths[pc] < 0 {
+				met["not come to"]++
+				continue
+			}
+			switch i.Op {
+			case api.OpReturn, api.OpThrow:
+				continue
+			case api.OpLoop:
+				met["loops"]++
+				continue
+			case api.OpUnless:
+				if i.A == pc+1 {
+					met["twice to the next one"]++
+				}
+				ahead[i.A]++
+			case api.OpJump:
+				ahead[i.A]++
+				continue
+			}
+			ahead[pc+1]++
+		}
+		for pc, n := range ahead {
+			if n > 1 && depths[pc] > 0 {
+				met["meets with values on the stack"]++
+			}
+		}
+		met["handlers"] += len(p[0].Handlers)
+	}
+	for _, s := range []string{"not come to", "twice to the next one", "loops", "meets with values on the stack", "handlers"} {
+		if met[s] < 300 {
+			t.Error(s, met[s])
+		}
+	}
+}

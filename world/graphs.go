@@ -17,6 +17,11 @@ type tour struct {
 	at    int // how many of its nodes were done
 }
 
+// enter: a frame comes into a graph, its stack being empty.
+func (f *frame) enter(g *api.Graph) {
+	f.tour = &tour{graph: g, entry: slices.Clone(f.locals), told: map[int]api.Val{}}
+}
+
 // node: the one that is done next; false: it is the block's end.
 func (t *tour) node() (int, bool) {
 	l := t.graph.Blocks[t.block].Nodes

@@ -26,6 +26,7 @@ func (w *World) instruction(f *frame) {
 	case api.OpLoop:
 		if w.point() {
 			f.place = i.A
+			w.turns(f)
 		}
 	case api.OpCall:
 		w.call(f, i.A)
@@ -39,6 +40,16 @@ func (w *World) instruction(f *frame) {
 		}
 	default:
 		w.deed(f, i)
+	}
+}
+
+// turns: a frame that looped goes on in a graph, if there is one.
+func (w *World) turns(f *frame) {
+	for _, g := range w.Turns {
+		if g.Fn == f.fn && g.Pc == f.place {
+			w.met("goes on in a graph")
+			f.enter(&g)
+		}
 	}
 }
 

@@ -19,6 +19,7 @@ type World struct {
 	Program    api.Program
 	Codes      map[int]api.RegFn // code of registers of some of its functions
 	Graphs     []api.Graph       // graphs of some others
+	Turns      []api.Graph       // graphs in which a frame that has no other gear goes on, where it loops to their place
 	Room, Fuel int
 	Met        Met
 
@@ -208,7 +209,7 @@ func (w *World) begin(fn int, closed api.Val, args []api.Val) {
 	for _, g := range w.Graphs {
 		if g.Fn == fn {
 			w.met("begins as a graph")
-			f.tour = &tour{graph: &g, entry: slices.Clone(f.locals), told: map[int]api.Val{}}
+			f.enter(&g)
 		}
 	}
 	c, ok := w.Codes[fn]
